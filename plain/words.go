@@ -2,6 +2,8 @@
 package plain
 
 import (
+	"cmp"
+
 	"escrow/api"
 )
 
@@ -33,4 +35,9 @@ func IsText(s string) bool {
 // Subscribed tells whether a collection is among those that are true.
 func Subscribed(subs []bool, coll int) bool {
 	return IsColl(coll) && coll < len(subs) && subs[coll]
+}
+
+// DotOrder compares dots by Device, Epoch, Seq.
+func DotOrder(a, b api.Dot) int {
+	return cmp.Or(cmp.Compare(a.Device, b.Device), cmp.Compare(a.Epoch, b.Epoch), cmp.Compare(a.Seq, b.Seq))
 }
