@@ -6,7 +6,12 @@ import (
 
 // List copies a list of values that hold no memory of their own.
 func List[T any](l []T) []T {
-	return append([]T(nil), l...)
+	if len(l) == 0 {
+		return nil
+	}
+	out := make([]T, len(l))
+	copy(out, l)
+	return out
 }
 
 // each copies a list whose elements need to be copied, too.
