@@ -1,4 +1,4 @@
-package audit
+package audit_test
 
 import (
 	"math/rand"
@@ -7,7 +7,8 @@ import (
 	"testing"
 
 	"escrow/api"
-	"escrow/plain"
+	"escrow/audit"
+	"escrow/wire"
 	"escrow/world"
 )
 
@@ -50,29 +51,29 @@ func bind(id int) api.Op { return api.Op{Kind: api.KBind, N: id} }
 
 func TestP2101New(t *testing.T) {
 	w := start(t, 3)
-	if !slices.Equal(Values(w), []int{10, 0}) || !Kept(w) || !Even(w) {
-		t.Error(Values(w), Kept(w), Even(w))
+	if !slices.Equal(audit.Values(w), []int{10, 0}) || !audit.Kept(w) || !audit.Even(w) {
+		t.Error(audit.Values(w), audit.Kept(w), audit.Even(w))
 	}
 }
 
 func TestP2101Values(t *testing.T) {
 	w := running(t)
 	ok(t, w.Edge(0).Do(count("x", 3, 0)), w.Edge(0).Do(count("x", -1, 2)), w.Edge(1).Do(count("y", 4, 0)), w.Edge(1).Do(bind(7)))
-	if !slices.Equal(Values(w), []int{12, 4}) || !Kept(w) || Even(w) {
-		t.Error("pending operations", Values(w))
+	if !slices.Equal(audit.Values(w), []int{12, 4}) || !audit.Kept(w) || audit.Even(w) {
+		t.Error("pending operations", audit.Values(w))
 	}
 	w.Send(0, 0)
 	w.Deliver(0) // included, and the client does not know it yet
-	if len(w.Group().Desk(0).Log) != 2 || !slices.Equal(Values(w), []int{12, 4}) {
-		t.Error("both pending and included", Values(w))
+	if len(w.Group().Desk(0).Log) != 2 || !slices.Equal(audit.Values(w), []int{12, 4}) {
+		t.Error("both pending and included", audit.Values(w))
 	}
 	w.Sync(10)
-	if !slices.Equal(Values(w), []int{12, 4}) || !Kept(w) || !Even(w) {
-		t.Error("included operations", Values(w))
+	if !slices.Equal(audit.Values(w), []int{12, 4}) || !audit.Kept(w) || !audit.Even(w) {
+		t.Error("included operations", audit.Values(w))
 	}
 	ok(t, w.Edge(0).Do(count("x", 1, 0)), w.Edge(1).Do(count("x", 1, 0)), w.Lose(1))
-	if !slices.Equal(Values(w), []int{13, 4}) || !Kept(w) {
-		t.Error("of a lost epoch that are not included", Values(w))
+	if !slices.Equal(audit.Values(w), []int{13, 4}) || !audit.Kept(w) {
+		t.Error("of a lost epoch that are not included", audit.Values(w))
 	}
 }
 
@@ -86,12 +87,12 @@ func TestP2101BestDesk(t *testing.T) {
 	if n, _ := w.Group().Node(0); n.Commit == 0 {
 		t.Fatal(n)
 	}
-	if !slices.Equal(Values(w), []int{13, 0}) || Even(w) {
-		t.Error("a server that is down knows best, and one that is up lags", Values(w))
+	if !slices.Equal(audit.Values(w), []int{13, 0}) || audit.Even(w) {
+		t.Error("a server that is down knows best, and one that is up lags", audit.Values(w))
 	}
 	w.Group().Crash(1)
 	w.Group().Crash(2)
-	if !Even(w) {
+	if !audit.Even(w) {
 		t.Error("no server is up")
 	}
 }
@@ -99,66 +100,115 @@ func TestP2101BestDesk(t *testing.T) {
 func TestP2101Even(t *testing.T) {
 	w := running(t)
 	w.Sync(5)
-	if !Even(w) {
+	if !audit.Even(w) {
 		t.Fatal("after Sync")
 	}
 	ok(t, w.Edge(1).Do(api.Op{Kind: api.KSet, Key: "k"}))
-	if Even(w) {
+	if audit.Even(w) {
 		t.Error("an operation is pending")
 	}
 	w.Send(1, 0)
 	w.Deliver(0)
 	w.Group().Calm(5)
 	w.Deliver(0)
-	if Even(w) {
+	if audit.Even(w) {
 		t.Error("an operation has not been read")
 	}
 	w.Sync(5)
-	if !Even(w) {
+	if !audit.Even(w) {
 		t.Error("all has been read")
 	}
 	ok(t, w.Edge(1).Do(api.Op{Kind: api.KSet, Key: "k"}), w.Lose(1))
 	w.Group().Calm(5)
-	if !Even(w) {
+	if !audit.Even(w) {
 		t.Error("of a client whose epoch is lost, nothing is asked")
 	}
 	w.Sync(5)
-	if !w.Edge(1).State().Fenced || !Even(w) {
+	if !w.Edge(1).State().Fenced || !audit.Even(w) {
 		t.Error("of a client that is fenced, nothing is asked")
 	}
 }
 
-// A view that is not as it must be.
-func TestP2101Broken(t *testing.T) {
-	w := running(t)
-	ok(t, w.Edge(0).Do(count("x", 3, 0)), w.Edge(0).Do(bind(2)), w.Edge(1).Do(bind(5)))
-	w.Sync(10)
-	ok(t, w.Edge(0).Do(bind(3)), w.Edge(0).Do(count("x", -1, 0)))
-	kept := func(change func(v *view)) bool {
-		v := look(w)
-		v.best = plain.Desk(v.best)
-		change(&v)
-		return v.all(view.inBounds, view.boundOnce, view.sound)
-	}
-	if !kept(func(*view) {}) || !Kept(w) {
-		t.Fatal("as it is")
-	}
-	for i, change := range []func(v *view){
-		func(v *view) { v.best.Log[0].N = 12 },
-		func(v *view) { v.best.Log[0].N = -10 },
-		func(v *view) { v.clients[0].Pending[1].N = -14 },
-		func(v *view) { v.clients[0].Pending[0].N = 2 },
-		func(v *view) { v.clients[0].Pending[0].N = 5 },
-		func(v *view) { v.best.Log[1].N = 5 },
-		func(v *view) { v.best.Book.Counters[0].Up = 99 },
-		func(v *view) { v.best.Book.Bound = []int{40} },
-	} {
-		if kept(change) {
-			t.Errorf("change %d is not seen", i)
+// forge gives a client a lease that no server has given.
+func forge(t *testing.T, w *world.World, i int, l api.Lease) {
+	t.Helper()
+	c := w.Edge(i)
+	ok(t, c.Register())
+	s := c.State()
+	l.Device, l.Epoch, l.Last = i, 1, -1
+	for _, r := range []api.Reply{{N: 1}, {Lease: l}} {
+		b, _ := wire.Bytes(wire.Msg{Kind: wire.MReply, Device: i, Req: s.Req, Reply: r})
+		ok(t, c.Take(b))
+		if r.N == 1 {
+			ok(t, c.Checkout(nil, 100))
+			s = c.State()
 		}
 	}
-	if !kept(func(v *view) { v.clients[0].Pending[0].N = 2; v.best.Lost = []api.Entry{{Device: 0, Epoch: 1}} }) {
-		t.Error("what is pending of a lost epoch does not count")
+}
+
+// Clients that spend what nobody has given them.
+func TestP2101NotKept(t *testing.T) {
+	rights := api.Lease{Slices: []api.Slice{{Key: "x", Up: 50, Down: 50}, {Key: "y", Up: 500, Down: 500}}, Ids: []api.Range{{To: 9}}}
+	for i, c := range []struct {
+		l      []api.Op
+		values []int
+		kept   bool
+	}{
+		{[]api.Op{count("x", 10, 0)}, []int{20, 0}, true},
+		{[]api.Op{count("x", 11, 0)}, []int{21, 0}, false},
+		{[]api.Op{count("x", -10, 0)}, []int{0, 0}, true},
+		{[]api.Op{count("x", -11, 0)}, []int{-1, 0}, false},
+		{[]api.Op{count("x", 11, 0), count("x", -1, 2)}, []int{20, 0}, true},
+		{[]api.Op{count("y", 101, 1)}, []int{10, 101}, false},
+		{[]api.Op{count("y", -101, 0)}, []int{10, -101}, false},
+		{[]api.Op{bind(3), bind(4)}, []int{10, 0}, true},
+	} {
+		w := start(t, 2)
+		forge(t, w, 1, rights)
+		for _, o := range c.l {
+			ok(t, w.Edge(1).Do(o))
+		}
+		if !slices.Equal(audit.Values(w), c.values) || audit.Kept(w) != c.kept {
+			t.Errorf("%d: %v, %v", i, audit.Values(w), audit.Kept(w))
+		}
+	}
+	w := start(t, 2)
+	forge(t, w, 0, rights)
+	forge(t, w, 1, rights)
+	ok(t, w.Edge(0).Do(bind(3)), w.Edge(1).Do(bind(4)), w.Edge(1).Do(count("x", 6, 0)))
+	if !audit.Kept(w) {
+		t.Error("two identifiers")
+	}
+	ok(t, w.Edge(1).Do(bind(3)))
+	if audit.Kept(w) {
+		t.Error("one identifier, bound twice")
+	}
+	w = start(t, 2)
+	forge(t, w, 0, rights)
+	forge(t, w, 1, rights)
+	ok(t, w.Edge(0).Do(count("x", 6, 0)), w.Edge(1).Do(count("x", 6, 0)))
+	if audit.Kept(w) || !slices.Equal(audit.Values(w), []int{22, 0}) {
+		t.Error("both together")
+	}
+}
+
+// An identifier that is bound in the log, and once more by what is pending.
+func TestP2101BoundInTheLog(t *testing.T) {
+	w := start(t, 2)
+	ok(t, w.Edge(0).Register())
+	w.Sync(40)
+	ok(t, w.Edge(0).Checkout([]api.Want{{Ids: 5}}, 100))
+	w.Sync(2)
+	ok(t, w.Edge(0).Do(bind(2)))
+	w.Sync(5)
+	forge(t, w, 1, api.Lease{Ids: []api.Range{{To: 9}}})
+	ok(t, w.Edge(1).Do(bind(1)))
+	if !audit.Kept(w) {
+		t.Error("another identifier")
+	}
+	ok(t, w.Edge(1).Do(bind(2)))
+	if audit.Kept(w) {
+		t.Error("the same identifier")
 	}
 }
 
@@ -198,7 +248,7 @@ func TestP2102(t *testing.T) {
 				w.Group().Wake(rnd.Intn(3))
 				w.Group().Calm(1)
 			}
-			if !Kept(w) {
+			if !audit.Kept(w) {
 				t.Fatalf("seed %d, step %d", seed, step)
 			}
 		}

@@ -1,4 +1,4 @@
-package code
+package code_test
 
 import (
 	"bytes"
@@ -9,6 +9,7 @@ import (
 	"testing"
 
 	"escrow/api"
+	"escrow/code"
 )
 
 func TestP101Bytes(t *testing.T) {
@@ -20,27 +21,27 @@ func TestP101Bytes(t *testing.T) {
 		{8191, "\xff\x7e"}, {8192, "\x81\x80\x00"},
 		{math.MaxInt, "\x81\xff\xff\xff\xff\xff\xff\xff\xff\x7e"}, {math.MinInt, "\x81\xff\xff\xff\xff\xff\xff\xff\xff\x7f"},
 	} {
-		if b := Int([]byte("ab"), c.n); string(b) != "ab"+c.want {
+		if b := code.Int([]byte("ab"), c.n); string(b) != "ab"+c.want {
 			t.Errorf("Int %d: %x", c.n, b)
 		}
 	}
-	if b := Text([]byte("a"), "\xffz\x00"); string(b) != "a\x06\xffz\x00" {
+	if b := code.Text([]byte("a"), "\xffz\x00"); string(b) != "a\x06\xffz\x00" {
 		t.Errorf("Text: %x", b)
 	}
-	if b := Text(nil, ""); string(b) != "\x00" {
+	if b := code.Text(nil, ""); string(b) != "\x00" {
 		t.Errorf("empty Text: %x", b)
 	}
-	if b := Ints(nil, []int{64, -1}); string(b) != "\x04\x81\x00\x01" {
+	if b := code.Ints(nil, []int{64, -1}); string(b) != "\x04\x81\x00\x01" {
 		t.Errorf("Ints: %x", b)
 	}
-	if b := Ints([]byte{7}, nil); string(b) != "\x07\x00" {
+	if b := code.Ints([]byte{7}, nil); string(b) != "\x07\x00" {
 		t.Errorf("empty Ints: %x", b)
 	}
 }
 
 func TestP101LeavesArguments(t *testing.T) {
 	in := make([]byte, 1, 64)
-	a, b, c := Int(in, 5), Text(in, "xyz"), Ints(in, []int{9})
+	a, b, c := code.Int(in, 5), code.Text(in, "xyz"), code.Ints(in, []int{9})
 	if !bytes.Equal(in[:64], make([]byte, 64)) {
 		t.Error("an argument was written to")
 	}
@@ -67,7 +68,7 @@ func TestP102Errors(t *testing.T) {
 		"\x81" + ff + "\xff":     api.ErrCut,
 		"\x02\x00":               api.ErrMore,
 	} {
-		r := New([]byte(s))
+		r := code.New([]byte(s))
 		n := r.Int()
 		if e := r.End(); e != want {
 			t.Errorf("%x: %v, not %v", s, e, want)
@@ -80,20 +81,20 @@ func TestP102Errors(t *testing.T) {
 
 func TestP102Lengths(t *testing.T) {
 	for n, want := range map[int]api.Errno{-1: api.ErrMany, math.MinInt: api.ErrMany, 65536: api.ErrMany, 65535: api.ErrCut, 1: api.ErrCut, 0: api.OK} {
-		b := Int(nil, n)
-		text, list := New(b), New(b)
+		b := code.Int(nil, n)
+		text, list := code.New(b), code.New(b)
 		if s, l := text.Text(), list.Ints(); s != "" || len(l) != 0 || text.End() != want || list.End() != want {
 			t.Errorf("%d: %q %v, %v %v", n, s, l, text.End(), list.End())
 		}
 	}
-	r := New([]byte("\x04\x02\x80"))
+	r := code.New([]byte("\x04\x02\x80"))
 	if l := r.Ints(); len(l) != 0 || r.End() != api.ErrBad {
 		t.Errorf("a list with a bad number: %v, %v", l, r.End())
 	}
 }
 
 func TestP102KeepsFirstError(t *testing.T) {
-	r := New([]byte("\x80\x02"))
+	r := code.New([]byte("\x80\x02"))
 	r.Int()
 	if r.Int() != 0 || r.Text() != "" || len(r.Ints()) != 0 || r.End() != api.ErrBad {
 		t.Errorf("after an error: %v", r.End())
@@ -102,7 +103,7 @@ func TestP102KeepsFirstError(t *testing.T) {
 	if r.End() != api.ErrBad {
 		t.Errorf("Fail replaced the error: %v", r.End())
 	}
-	r = New([]byte("\x02\x04"))
+	r = code.New([]byte("\x02\x04"))
 	r.Fail(api.OK)
 	if n := r.Int(); n != 1 || r.End() != api.ErrMore {
 		t.Errorf("Fail(OK): %d, %v", n, r.End())
@@ -110,7 +111,7 @@ func TestP102KeepsFirstError(t *testing.T) {
 	if n := r.Int(); n != 2 || r.End() != api.OK {
 		t.Errorf("ErrMore stayed: %d, %v", n, r.End())
 	}
-	r = New([]byte("\x02"))
+	r = code.New([]byte("\x02"))
 	r.Fail(api.ErrKind)
 	if n := r.Int(); n != 0 || r.End() != api.ErrKind {
 		t.Errorf("Fail: %d, %v", n, r.End())
@@ -118,8 +119,8 @@ func TestP102KeepsFirstError(t *testing.T) {
 }
 
 func TestP102KeepsNoArgument(t *testing.T) {
-	b := Text(nil, "abc")
-	r := New(b)
+	b := code.Text(nil, "abc")
+	r := code.New(b)
 	b[1] = 'z'
 	if s := r.Text(); s != "abc" {
 		t.Errorf("reads %q", s)
@@ -136,8 +137,8 @@ func TestP103RoundTrip(t *testing.T) {
 		for i := range l {
 			l[i] = int(rnd.Uint64()) >> rnd.Intn(64)
 		}
-		b := Ints(Text(Int(nil, n), string(raw)), l)
-		r := New(b)
+		b := code.Ints(code.Text(code.Int(nil, n), string(raw)), l)
+		r := code.New(b)
 		m, s, k := r.Int(), r.Text(), r.Ints()
 		if m != n || s != string(raw) || !slices.Equal(k, l) || r.End() != api.OK {
 			t.Fatalf("%d %q %v: %d %q %v %v", n, raw, l, m, s, k, r.End())
@@ -155,9 +156,9 @@ func TestP103SameBytes(t *testing.T) {
 				b[i] |= 128
 			}
 		}
-		r := New(b)
+		r := code.New(b)
 		n := r.Int()
-		if r.End() == api.OK && !bytes.Equal(Int(nil, n), b) {
+		if r.End() == api.OK && !bytes.Equal(code.Int(nil, n), b) {
 			t.Fatalf("%x is read as %d", b, n)
 		}
 	}

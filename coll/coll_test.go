@@ -1,4 +1,4 @@
-package coll
+package coll_test
 
 import (
 	"math/rand"
@@ -7,6 +7,7 @@ import (
 	"testing"
 
 	"escrow/api"
+	"escrow/coll"
 	"escrow/plain"
 )
 
@@ -20,11 +21,11 @@ func apply(t *testing.T, c api.Coll, l ...api.Op) api.Coll {
 	t.Helper()
 	for _, o := range l {
 		before := plain.Coll(c)
-		next, e := Apply(c, o)
+		next, e := coll.Apply(c, o)
 		if e != api.OK {
 			t.Fatalf("%v: %v", o, e)
 		}
-		if !Same(c, before) {
+		if !coll.Same(c, before) {
 			t.Fatal("Apply changed its argument")
 		}
 		c = next
@@ -46,7 +47,7 @@ func TestP1001Errors(t *testing.T) {
 		{op(api.KSet, 1, 2, "k", "", 0, 0), api.ErrIs},
 		{op(api.KSet, 1, 3, "k", "", 0, 0), api.ErrIs},
 	} {
-		if d, e := Apply(c, x.o); e != x.want || !Same(c, d) {
+		if d, e := coll.Apply(c, x.o); e != x.want || !coll.Same(c, d) {
 			t.Errorf("%d: %v, %v", i, e, d)
 		}
 	}
@@ -70,7 +71,7 @@ func TestP1001Set(t *testing.T) {
 		{op(api.KSet, 2, 2, "k", "b", 0, 5), "b"},
 		{op(api.KSet, 0, 1, "k", "b", 0, 6), "b"},
 	} {
-		if s, e := Reg(apply(t, c, x.o), "k", 1); s != x.want || e != api.OK {
+		if s, e := coll.Reg(apply(t, c, x.o), "k", 1); s != x.want || e != api.OK {
 			t.Errorf("%d: %q, %v", i, s, e)
 		}
 	}
@@ -86,7 +87,7 @@ func TestP1001AddAndRemove(t *testing.T) {
 		t.Errorf("%v", c.Elems)
 	}
 	c = apply(t, c, op(api.KRem, 3, 1, "other", "q", 0, 0, dot(1, 1), dot(1, 2), dot(4, 1)))
-	if d := Dots(c, "s", "x"); !slices.Equal(d, []api.Dot{dot(2, 1)}) || len(c.Elems) != 2 {
+	if d := coll.Dots(c, "s", "x"); !slices.Equal(d, []api.Dot{dot(2, 1)}) || len(c.Elems) != 2 {
 		t.Errorf("%v", c.Elems)
 	}
 	c = apply(t, c, op(api.KRem, 3, 2, "s", "x", 0, 0, dot(1, 1), dot(2, 1)))
@@ -94,7 +95,7 @@ func TestP1001AddAndRemove(t *testing.T) {
 		t.Errorf("%v", c.Gone)
 	}
 	c = apply(t, c, op(api.KAdd, 4, 1, "s", "x", 0, 0), op(api.KAdd, 4, 2, "s", "x", 0, 0))
-	if d := Dots(c, "s", "x"); !slices.Equal(d, []api.Dot{dot(4, 2)}) {
+	if d := coll.Dots(c, "s", "x"); !slices.Equal(d, []api.Dot{dot(4, 2)}) {
 		t.Errorf("an element whose dot is gone was added: %v", d)
 	}
 }
@@ -109,10 +110,10 @@ func TestP1001CountAndBind(t *testing.T) {
 		t.Errorf("%v", c.Binds)
 	}
 	c = apply(t, c, op(api.KBind, 4, 1, "", "four", 9, 99), op(api.KBind, 1, 3, "", "one", 7, 0))
-	if a, _ := Bound(c, 7, 1); a != "one" {
+	if a, _ := coll.Bound(c, 7, 1); a != "one" {
 		t.Errorf("%q", a)
 	}
-	if a, _ := Bound(c, 9, 1); a != "three" {
+	if a, _ := coll.Bound(c, 9, 1); a != "three" {
 		t.Errorf("%q", a)
 	}
 }
@@ -124,49 +125,49 @@ func TestP1002(t *testing.T) {
 	o.Ver = 2
 	c = apply(t, c, o)
 	for ver, want := range map[int]string{1: " A ", 2: " a ", 3: "a"} {
-		if s, e := Reg(c, "k", ver); s != want || e != api.OK {
+		if s, e := coll.Reg(c, "k", ver); s != want || e != api.OK {
 			t.Errorf("%d: %q, %v", ver, s, e)
 		}
 	}
-	if l, e := Members(c, "s", 3); !slices.Equal(l, []string{"b", "c", "z"}) || e != api.OK {
+	if l, e := coll.Members(c, "s", 3); !slices.Equal(l, []string{"b", "c", "z"}) || e != api.OK {
 		t.Errorf("%q, %v", l, e)
 	}
-	if l, e := Members(c, "s", 2); !slices.Equal(l, []string{" z", "b", "c", "z"}) || e != api.OK {
+	if l, e := coll.Members(c, "s", 2); !slices.Equal(l, []string{" z", "b", "c", "z"}) || e != api.OK {
 		t.Errorf("%q, %v", l, e)
 	}
-	if l, e := Members(c, "s", 1); l != nil || e != api.ErrNew {
+	if l, e := coll.Members(c, "s", 1); l != nil || e != api.ErrNew {
 		t.Errorf("%q, %v", l, e)
 	}
-	if l, e := Members(c, "s", 4); l != nil || e != api.ErrArg {
+	if l, e := coll.Members(c, "s", 4); l != nil || e != api.ErrArg {
 		t.Errorf("%q, %v", l, e)
 	}
-	if l, e := Members(c, "none", 9); len(l) != 0 || e != api.OK {
+	if l, e := coll.Members(c, "none", 9); len(l) != 0 || e != api.OK {
 		t.Errorf("%q, %v", l, e)
 	}
-	if d := Dots(c, "s", "Z"); len(d) != 0 {
+	if d := coll.Dots(c, "s", "Z"); len(d) != 0 {
 		t.Errorf("%v", d)
 	}
-	if d := Dots(c, "s", "z"); !slices.Equal(d, []api.Dot{dot(1, 3)}) {
+	if d := coll.Dots(c, "s", "z"); !slices.Equal(d, []api.Dot{dot(1, 3)}) {
 		t.Errorf("%v", d)
 	}
-	if Count(c, "n") != -3 || Count(c, "k") != 0 {
+	if coll.Count(c, "n") != -3 || coll.Count(c, "k") != 0 {
 		t.Error("Count")
 	}
-	if s, e := Bound(c, 5, 3); s != "i" || e != api.OK {
+	if s, e := coll.Bound(c, 5, 3); s != "i" || e != api.OK {
 		t.Errorf("%q, %v", s, e)
 	}
 	for _, ver := range []int{0, 4} {
-		if s, e := Reg(c, "k", ver); s != "" || e != api.ErrArg {
+		if s, e := coll.Reg(c, "k", ver); s != "" || e != api.ErrArg {
 			t.Errorf("%q, %v", s, e)
 		}
-		if s, e := Bound(c, 5, ver); s != "" || e != api.ErrArg {
+		if s, e := coll.Bound(c, 5, ver); s != "" || e != api.ErrArg {
 			t.Errorf("%q, %v", s, e)
 		}
 	}
-	if _, e := Reg(c, "s", 0); e != api.ErrNone {
+	if _, e := coll.Reg(c, "s", 0); e != api.ErrNone {
 		t.Error(e)
 	}
-	if _, e := Bound(c, 6, 0); e != api.ErrNone {
+	if _, e := coll.Bound(c, 6, 0); e != api.ErrNone {
 		t.Error(e)
 	}
 }
@@ -178,15 +179,15 @@ func TestP1002Same(t *testing.T) {
 		func(c *api.Coll) { c.Gone = nil }, func(c *api.Coll) { c.Sums[0].N++ }, func(c *api.Coll) { c.Binds[0].Id++ },
 	} {
 		d := plain.Coll(c)
-		if !Same(c, d) {
+		if !coll.Same(c, d) {
 			t.Fatal("a copy differs")
 		}
 		change(&d)
-		if Same(c, d) || Same(d, c) {
+		if coll.Same(c, d) || coll.Same(d, c) {
 			t.Errorf("change %d is not seen", i)
 		}
 	}
-	if !Same(api.Coll{}, api.Coll{V: []api.Entry{}, Regs: []api.Reg{}}) {
+	if !coll.Same(api.Coll{}, api.Coll{V: []api.Entry{}, Regs: []api.Reg{}}) {
 		t.Error("empty ones differ")
 	}
 }
@@ -217,7 +218,7 @@ func TestP1003(t *testing.T) {
 			}
 			if turn == 0 {
 				first = c
-			} else if !Same(first, c) || !reflect.DeepEqual(first.V, c.V) {
+			} else if !coll.Same(first, c) || !reflect.DeepEqual(first.V, c.V) {
 				t.Fatalf("%v\n%v", first, c)
 			}
 		}

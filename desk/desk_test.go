@@ -1,4 +1,4 @@
-package desk
+package desk_test
 
 import (
 	"math"
@@ -9,6 +9,7 @@ import (
 
 	"escrow/api"
 	"escrow/coll"
+	"escrow/desk"
 	"escrow/ledger"
 	"escrow/ops"
 	"escrow/plain"
@@ -16,7 +17,7 @@ import (
 
 func start(t *testing.T) api.Desk {
 	t.Helper()
-	d, e := New([]api.Counter{{Key: "x", Hi: 20, Start: 10}, {Key: "y", Coll: 1, Lo: -100, Hi: 100}}, 50)
+	d, e := desk.New([]api.Counter{{Key: "x", Hi: 20, Start: 10}, {Key: "y", Coll: 1, Lo: -100, Hi: 100}}, 50)
 	if e != api.OK {
 		t.Fatal(e)
 	}
@@ -29,11 +30,11 @@ func do(t *testing.T, d api.Desk, l ...api.Cmd) (api.Desk, api.Reply) {
 	var r api.Reply
 	for _, c := range l {
 		before := plain.Desk(d)
-		next, reply := Do(d, c)
+		next, reply := desk.Do(d, c)
 		if reply.Err != api.OK {
 			t.Fatalf("%v: %v", c, reply.Err)
 		}
-		if !Same(d, before) {
+		if !desk.Same(d, before) {
 			t.Fatal("Do changed its argument")
 		}
 		d, r = next, reply
@@ -44,7 +45,7 @@ func do(t *testing.T, d api.Desk, l ...api.Cmd) (api.Desk, api.Reply) {
 // refuses executes a command that must fail and change nothing, but for the record of a request.
 func refuses(t *testing.T, d api.Desk, c api.Cmd, want api.Errno, recorded bool) {
 	t.Helper()
-	next, r := Do(d, c)
+	next, r := desk.Do(d, c)
 	if !plain.SameReply(r, api.Reply{Err: want}) {
 		t.Errorf("%v: %v, not %v", c, r, want)
 	}
@@ -52,7 +53,7 @@ func refuses(t *testing.T, d api.Desk, c api.Cmd, want api.Errno, recorded bool)
 	if recorded {
 		expected.Dev[c.Device].Req, expected.Dev[c.Device].Reply = c.Req, api.Reply{Err: want}
 	}
-	if !Same(next, expected) {
+	if !desk.Same(next, expected) {
 		t.Errorf("%v with %v changed the desk", c, want)
 	}
 }
@@ -76,11 +77,11 @@ func op(device, seq, kind int, key string, n int) api.Op {
 func TestP1301(t *testing.T) {
 	d := start(t)
 	b, _ := ledger.New([]api.Counter{{Key: "x", Hi: 20, Start: 10}, {Key: "y", Coll: 1, Lo: -100, Hi: 100}}, 50)
-	if !Same(d, api.Desk{Book: b}) {
+	if !desk.Same(d, api.Desk{Book: b}) {
 		t.Errorf("%v", d)
 	}
 	for want, l := range map[api.Errno][]api.Counter{api.ErrMany: make([]api.Counter, 5), api.ErrArg: {{}}, api.ErrIs: {{Key: "a"}, {Key: "a"}}} {
-		if d, e := New(l, 0); e != want || !Same(d, api.Desk{}) {
+		if d, e := desk.New(l, 0); e != want || !desk.Same(d, api.Desk{}) {
 			t.Errorf("%v: %v", want, e)
 		}
 	}
@@ -124,7 +125,7 @@ func TestP1302Requests(t *testing.T) {
 	}
 	refuses(t, d, register(2, 4), api.ErrIs, false)
 	refuses(t, d, register(2, 6), api.ErrIs, true)
-	failed, _ := Do(d, register(2, 6))
+	failed, _ := desk.Do(d, register(2, 6))
 	refuses(t, failed, checkout(2, 6, 10), api.ErrIs, false)
 	d, r = do(t, failed, checkout(2, 1<<30, 10, api.Want{Key: "x", Up: 2}))
 	first := plain.Reply(r)
@@ -215,7 +216,7 @@ func TestP1302Merge(t *testing.T) {
 		t.Errorf("%v", l)
 	}
 	again, r := do(t, d, merge(1, op(1, 1, api.KCount, "x", 2), add))
-	if r.N != 3 || !Same(d, again) {
+	if r.N != 3 || !desk.Same(d, again) {
 		t.Errorf("a merge that comes twice: %v", r)
 	}
 }
@@ -319,7 +320,7 @@ func TestP1303Delta(t *testing.T) {
 		{0, []bool{false, false, false, true}, 9, nil, 6},
 		{0, []bool{false, false, true}, math.MaxInt, []int{3, 6}, 6},
 	} {
-		l, next := Delta(d, c.from, c.subs, c.n)
+		l, next := desk.Delta(d, c.from, c.subs, c.n)
 		var seqs []int
 		for _, o := range l {
 			seqs = append(seqs, o.Dot.Seq)
@@ -338,11 +339,11 @@ func TestP1303Same(t *testing.T) {
 		func(d *api.Desk) { d.Dev[1].Reply.Lease.Slices[0].Up++ }, func(d *api.Desk) { d.Lost[0].Seq++ },
 	} {
 		c := plain.Desk(d)
-		if !Same(c, d) || !reflect.DeepEqual(c, plain.Desk(d)) {
+		if !desk.Same(c, d) || !reflect.DeepEqual(c, plain.Desk(d)) {
 			t.Fatal("a copy differs")
 		}
 		change(&c)
-		if Same(c, d) {
+		if desk.Same(c, d) {
 			t.Errorf("change %d is not seen", i)
 		}
 	}
@@ -387,7 +388,7 @@ func TestP1304(t *testing.T) {
 			req[device] += rnd.Intn(2)
 			c.Req = req[device]
 		}
-		d, _ = Do(d, c)
+		d, _ = desk.Do(d, c)
 		check(t, d)
 	}
 	if len(d.Log) < 100 || len(d.Lost) < 3 || len(d.Book.Bound) == 0 {

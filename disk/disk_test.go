@@ -1,22 +1,23 @@
-package disk
+package disk_test
 
 import (
 	"math"
 	"testing"
 
 	"escrow/api"
+	"escrow/disk"
 )
 
-func open(t *testing.T, room int) *Disk {
+func open(t *testing.T, room int) *disk.Disk {
 	t.Helper()
-	d, e := New(room)
+	d, e := disk.New(room)
 	if e != api.OK {
 		t.Fatal(e)
 	}
 	return d
 }
 
-func want(t *testing.T, d *Disk, log, snap string, ops int) {
+func want(t *testing.T, d *disk.Disk, log, snap string, ops int) {
 	t.Helper()
 	if string(d.Log()) != log || string(d.Snap()) != snap || d.Ops() != ops {
 		t.Errorf("log %q, snap %q, %d ops; not %q, %q, %d", d.Log(), d.Snap(), d.Ops(), log, snap, ops)
@@ -25,7 +26,7 @@ func want(t *testing.T, d *Disk, log, snap string, ops int) {
 
 func TestP301New(t *testing.T) {
 	for room, e := range map[int]api.Errno{0: api.ErrArg, -1: api.ErrArg, 1: api.OK, 1 << 24: api.OK, 1<<24 + 1: api.ErrArg, math.MinInt: api.ErrArg} {
-		d, got := New(room)
+		d, got := disk.New(room)
 		if got != e || (d == nil) != (e != api.OK) {
 			t.Errorf("room %d: %v", room, got)
 		}
@@ -92,11 +93,11 @@ func TestP301Dead(t *testing.T) {
 
 func TestP302Stop(t *testing.T) {
 	for n := range 6 {
-		for name, do := range map[string]func(d *Disk) api.Errno{
-			"append": func(d *Disk) api.Errno { return d.Append([]byte("+")) },
-			"sync":   func(d *Disk) api.Errno { return d.Sync() },
-			"cut":    func(d *Disk) api.Errno { return d.Cut(1) },
-			"swap":   func(d *Disk) api.Errno { return d.Swap([]byte("s")) },
+		for name, do := range map[string]func(d *disk.Disk) api.Errno{
+			"append": func(d *disk.Disk) api.Errno { return d.Append([]byte("+")) },
+			"sync":   func(d *disk.Disk) api.Errno { return d.Sync() },
+			"cut":    func(d *disk.Disk) api.Errno { return d.Cut(1) },
+			"swap":   func(d *disk.Disk) api.Errno { return d.Swap([]byte("s")) },
 		} {
 			d := open(t, 100)
 			d.Append([]byte("abc"))

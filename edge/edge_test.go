@@ -1,4 +1,4 @@
-package edge
+package edge_test
 
 import (
 	"math"
@@ -10,6 +10,7 @@ import (
 
 	"escrow/api"
 	"escrow/disk"
+	"escrow/edge"
 	"escrow/journal"
 	"escrow/local"
 	"escrow/wire"
@@ -26,9 +27,9 @@ func newDisk(t *testing.T, room int) *disk.Disk {
 	return d
 }
 
-func open(t *testing.T, d *disk.Disk) *Edge {
+func open(t *testing.T, d *disk.Disk) *edge.Edge {
 	t.Helper()
-	c, e := Open(d, 1, 2, all)
+	c, e := edge.Open(d, 1, 2, all)
 	if e != api.OK {
 		t.Fatal(e)
 	}
@@ -73,14 +74,14 @@ func incoming(seq, kind int) api.Op {
 var lease = api.Lease{Device: 1, Epoch: 1, Until: 10, Last: -1, Slices: []api.Slice{{Key: "x", Up: 5, Down: 1}}, Ids: []api.Range{{To: 3}}}
 
 // leased opens a client and gives it a lease.
-func leased(t *testing.T, d *disk.Disk) *Edge {
+func leased(t *testing.T, d *disk.Disk) *edge.Edge {
 	t.Helper()
 	c := open(t, d)
 	ok(t, c.Register(), c.Take(reply(1, 0, api.Reply{N: 1})), c.Checkout([]api.Want{{Key: "x", Up: 5, Down: 1}, {Ids: 3}}, 10), c.Take(reply(2, 1, api.Reply{Lease: lease})))
 	return c
 }
 
-func next(t *testing.T, c *Edge) wire.Msg {
+func next(t *testing.T, c *edge.Edge) wire.Msg {
 	t.Helper()
 	m, e := wire.Parse(c.Next())
 	if e != api.OK {
@@ -96,24 +97,24 @@ func TestP1901Open(t *testing.T) {
 		t.Errorf("%+v", c.State())
 	}
 	for _, args := range [][2]int{{-1, 1}, {6, 1}, {0, 0}, {0, 4}} {
-		if c, e := Open(d, args[0], args[1], all); e != api.ErrArg || c != nil {
+		if c, e := edge.Open(d, args[0], args[1], all); e != api.ErrArg || c != nil {
 			t.Error(e)
 		}
 	}
-	if c, e := Open(d, 1, 2, all[:2]); e != api.ErrArg || c != nil {
+	if c, e := edge.Open(d, 1, 2, all[:2]); e != api.ErrArg || c != nil {
 		t.Error(e)
 	}
 	d.Stop(1)
 	d.Sync()
-	if c, e := Open(d, 1, 2, all); e != api.ErrDead || c != nil {
+	if c, e := edge.Open(d, 1, 2, all); e != api.ErrDead || c != nil {
 		t.Error(e)
 	}
-	if c, e := Open(d, 1, 0, all); e != api.ErrArg || c != nil {
+	if c, e := edge.Open(d, 1, 0, all); e != api.ErrArg || c != nil {
 		t.Error(e)
 	}
 	d.Crash(0)
 	d.Swap([]byte("x"))
-	if c, e := Open(d, 1, 2, all); e != api.ErrBad || c != nil {
+	if c, e := edge.Open(d, 1, 2, all); e != api.ErrBad || c != nil {
 		t.Error(e)
 	}
 }
@@ -222,18 +223,16 @@ func TestP1901Snapshots(t *testing.T) {
 	}
 	ok(t, c.Do(api.Op{Kind: api.KCount, Key: "x", N: 2}), c.Do(api.Op{Kind: api.KBind, N: 2, Text: "b"}), c.Close(), c.Take(reply(0, 1, api.Reply{Err: api.ErrFenced})))
 	s := c.State()
-	if parsed, e := parseState(stateBytes(s)); e != api.OK || !local.Same(parsed, s) || !reflect.DeepEqual(parsed.Cmd, s.Cmd) {
-		t.Errorf("%+v, %v", parsed, e)
+	for range 20 { // whatever has been written as records is now in a snapshot
+		ok(t, c.Tick(1))
+	}
+	s.Now += 20
+	if got := open(t, d).State(); !local.Same(got, s) || len(d.Snap()) == 0 {
+		t.Errorf("%+v", got)
 	}
 	for _, x := range s.Colls {
 		if len(x.Regs) == 0 || len(x.Elems) == 0 || len(x.Gone) == 0 || len(x.Sums) == 0 || len(x.Binds) == 0 {
 			t.Errorf("too little for a test: %+v", x)
-		}
-	}
-	b := stateBytes(s)
-	for k := range b {
-		if _, e := parseState(b[:k]); e == api.OK {
-			t.Fatalf("%d bytes of %d are a state", k, len(b))
 		}
 	}
 }
@@ -310,6 +309,46 @@ func TestP1903(t *testing.T) {
 	}
 }
 
+// deed is a call of a client, and what local does for it.
+type deed struct {
+	call func(c *edge.Edge) api.Errno
+	do   func(s local.State) (local.State, api.Errno)
+}
+
+func begins(c api.Cmd) deed {
+	call := func(e *edge.Edge) api.Errno { return e.Checkout(c.Wants, c.N) }
+	switch c.Kind {
+	case api.CRegister:
+		call = (*edge.Edge).Register
+	case api.CClose:
+		call = (*edge.Edge).Close
+	}
+	return deed{call, func(s local.State) (local.State, api.Errno) { return local.Begin(s, c) }}
+}
+
+// random is a deed that may do something in a state; seq: of the next operation that comes in.
+func random(rnd *rand.Rand, s local.State, turn, seq int) deed {
+	switch rnd.Intn(8) {
+	case 0:
+		n := rnd.Intn(3)
+		return deed{func(c *edge.Edge) api.Errno { return c.Tick(n) }, func(s local.State) (local.State, api.Errno) { return local.Time(s, n) }}
+	case 1:
+		return begins([]api.Cmd{{Kind: api.CRegister}, {Kind: api.CCheckout, N: 5, Wants: []api.Want{{Key: "x", Up: 1}}}, {Kind: api.CClose}}[rnd.Intn(3)])
+	case 2:
+		r := api.Reply{N: s.Epoch + 1, Lease: lease}
+		r.Lease.Epoch = s.Epoch
+		return deed{func(c *edge.Edge) api.Errno { return c.Take(reply(s.Req, 0, r)) }, func(s local.State) (local.State, api.Errno) { return local.Reply(s, s.Req, r) }}
+	case 3:
+		l := []api.Op{incoming(seq, 1+rnd.Intn(5))}
+		return deed{func(c *edge.Edge) api.Errno { return c.Take(delta(s.At, s.At+1, l...)) }, func(s local.State) (local.State, api.Errno) { return local.Delta(s, s.At, s.At+1, l) }}
+	case 4:
+		r := api.Reply{N: rnd.Intn(s.Seq + 1)}
+		return deed{func(c *edge.Edge) api.Errno { return c.Take(reply(0, s.Epoch, r)) }, func(s local.State) (local.State, api.Errno) { return local.Reply(s, 0, r) }}
+	}
+	o := api.Op{Kind: 1 + rnd.Intn(5), Key: "x", Text: "t" + strconv.Itoa(turn), N: rnd.Intn(3)}
+	return deed{func(c *edge.Edge) api.Errno { return c.Do(o) }, func(s local.State) (local.State, api.Errno) { return local.Do(s, o) }}
+}
+
 // Wherever the power fails: the state after all calls without an error, or after one more.
 func TestP1904(t *testing.T) {
 	for stop := 1; stop < 90; stop++ {
@@ -317,45 +356,33 @@ func TestP1904(t *testing.T) {
 		d := newDisk(t, 1200+rnd.Intn(3000))
 		c := open(t, d)
 		d.Stop(stop)
-		seq := 0
 		for turn := range 1000 {
 			s := c.State()
-			var st step
-			switch rnd.Intn(8) {
-			case 0:
-				st = step{kind: timeStep, n: rnd.Intn(3)}
-			case 1:
-				st = step{kind: beginStep, cmd: api.Cmd{Kind: 1 + rnd.Intn(4), N: 5, Wants: []api.Want{{Key: "x", Up: 1}}}}
-			case 2:
-				r := api.Reply{N: s.Epoch + 1, Lease: lease}
-				r.Lease.Epoch = s.Epoch
-				st = step{kind: takeStep, msg: reply(s.Req, 0, r)}
-			case 3:
-				st = step{kind: takeStep, msg: delta(s.At, s.At+1, incoming(seq+1, 1+rnd.Intn(5)))}
-			case 4:
-				st = step{kind: takeStep, msg: reply(0, s.Epoch, api.Reply{N: rnd.Intn(s.Seq + 1)})}
-			default:
-				st = step{kind: doStep, op: api.Op{Kind: 1 + rnd.Intn(5), Key: "x", Text: "t" + strconv.Itoa(turn), N: rnd.Intn(3)}}
-			}
-			e := c.run(st)
-			if e == api.OK && st.kind == takeStep {
-				if m, _ := wire.Parse(st.msg); m.Kind == wire.MDelta {
-					seq++
+			seq := 1
+			for _, x := range s.Colls {
+				for _, v := range x.V {
+					if v.Device == 2 {
+						seq = max(seq, v.Seq+1)
+					}
 				}
 			}
-			if e == api.ErrFull {
-				ok(t, c.Tick(0))
-				break
+			next := random(rnd, s, turn, seq)
+			after, want := next.do(s)
+			e := next.call(c)
+			if e == api.OK && !local.Same(c.State(), after) || e != api.OK && !local.Same(c.State(), s) {
+				t.Fatalf("%v: %+v", e, c.State())
 			}
 			if e == api.ErrDead {
-				after, _ := st.do(s)
-				if !local.Same(c.State(), s) {
-					t.Fatal("the state has changed beside ErrDead")
-				}
 				d.Crash(rnd.Intn(500))
 				if got := open(t, d).State(); !local.Same(got, s) && !local.Same(got, after) {
 					t.Fatalf("stop %d: %+v, neither %+v nor %+v", stop, got, s, after)
 				}
+				break
+			}
+			if e != want && e != api.ErrFull {
+				t.Fatalf("%v, not %v", e, want)
+			}
+			if e == api.ErrFull && want == api.OK {
 				break
 			}
 		}

@@ -1,4 +1,4 @@
-package frames
+package frames_test
 
 import (
 	"bytes"
@@ -7,11 +7,12 @@ import (
 	"testing"
 
 	"escrow/api"
+	"escrow/frames"
 )
 
 func frame(t *testing.T, s string) []byte {
 	t.Helper()
-	b, e := Frame([]byte(s))
+	b, e := frames.Frame([]byte(s))
 	if e != api.OK {
 		t.Fatalf("Frame %q: %v", s, e)
 	}
@@ -19,15 +20,15 @@ func frame(t *testing.T, s string) []byte {
 }
 
 func TestP201Crc(t *testing.T) {
-	if c := Crc([]byte("123456789")); c != 0xCBF43926 {
+	if c := frames.Crc([]byte("123456789")); c != 0xCBF43926 {
 		t.Errorf("%x", c)
 	}
 	rnd := rand.New(rand.NewSource(1))
 	for n := range 300 {
 		b := make([]byte, n)
 		rnd.Read(b)
-		if Crc(b) != crc32.ChecksumIEEE(b) {
-			t.Errorf("%x: %x", b, Crc(b))
+		if frames.Crc(b) != crc32.ChecksumIEEE(b) {
+			t.Errorf("%x: %x", b, frames.Crc(b))
 		}
 	}
 }
@@ -40,10 +41,10 @@ func TestP201Frame(t *testing.T) {
 		t.Errorf("empty: %x", b)
 	}
 	big := make([]byte, 1<<22)
-	if b, e := Frame(big); e != api.OK || len(b) != 8+1<<22 {
+	if b, e := frames.Frame(big); e != api.OK || len(b) != 8+1<<22 {
 		t.Errorf("longest: %d, %v", len(b), e)
 	}
-	if b, e := Frame(append(big, 0)); e != api.ErrLong || b != nil {
+	if b, e := frames.Frame(append(big, 0)); e != api.ErrLong || b != nil {
 		t.Errorf("too long: %d, %v", len(b), e)
 	}
 }
@@ -70,12 +71,12 @@ func TestP202One(t *testing.T) {
 		{[]byte("\xff\xff\xff\xff\x00\x00\x00"), api.ErrCut},
 		{make([]byte, 8), api.OK},
 	} {
-		record, e := One(c.b)
+		record, e := frames.One(c.b)
 		if e != c.want || e != api.OK && record != nil {
 			t.Errorf("%x: %x, %v, not %v", c.b, record, e, c.want)
 		}
 	}
-	if record, _ := One(good); string(record) != "abc" {
+	if record, _ := frames.One(good); string(record) != "abc" {
 		t.Errorf("%x", record)
 	}
 }
@@ -86,20 +87,20 @@ func TestP202Scan(t *testing.T) {
 	wrong := bytes.Clone(a)
 	wrong[9] ^= 4
 	for _, tail := range [][]byte{nil, a[:9], wrong, []byte("\x00\x40\x00\x01\x00\x00\x00\x00"), append(bytes.Clone(wrong), a...)} {
-		l, n := Scan(append(bytes.Clone(all), tail...))
+		l, n := frames.Scan(append(bytes.Clone(all), tail...))
 		if len(l) != 2 || string(l[0]) != "abc" || len(l[1]) != 0 || n != len(all) {
 			t.Errorf("tail %x: %q, %d", tail, l, n)
 		}
 	}
-	if l, n := Scan(nil); len(l) != 0 || n != 0 {
+	if l, n := frames.Scan(nil); len(l) != 0 || n != 0 {
 		t.Errorf("nothing: %q, %d", l, n)
 	}
 }
 
 func TestP202SharesNothing(t *testing.T) {
 	b := frame(t, "abc")
-	l, _ := Scan(b)
-	record, _ := One(b)
+	l, _ := frames.Scan(b)
+	record, _ := frames.One(b)
 	l[0][0], record[1] = 'x', 'y'
 	if string(b[8:]) != "abc" || string(l[0]) != "xbc" {
 		t.Error("memory is shared")
@@ -119,7 +120,7 @@ func TestP203(t *testing.T) {
 		}
 		one := frame(t, "one more")
 		for k := range one {
-			l, n := Scan(append(bytes.Clone(all), one[:k]...))
+			l, n := frames.Scan(append(bytes.Clone(all), one[:k]...))
 			if len(l) != len(want) || n != len(all) {
 				t.Fatalf("prefix %d: %d records of %d, %d bytes of %d", k, len(l), len(want), n, len(all))
 			}

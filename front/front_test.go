@@ -1,4 +1,4 @@
-package front
+package front_test
 
 import (
 	"reflect"
@@ -7,6 +7,7 @@ import (
 	"escrow/api"
 	"escrow/desk"
 	"escrow/frames"
+	"escrow/front"
 	"escrow/group"
 	"escrow/replica"
 	"escrow/wire"
@@ -34,7 +35,7 @@ func bytesOf(t *testing.T, m wire.Msg) []byte {
 // answers holds the answer to a message against what is wanted.
 func answers(t *testing.T, g *group.Group, i int, m, want wire.Msg) {
 	t.Helper()
-	b := Take(g, i, bytesOf(t, m))
+	b := front.Take(g, i, bytesOf(t, m))
 	got, e := wire.Parse(b)
 	if e != api.OK || !reflect.DeepEqual(got, want) {
 		t.Errorf("%+v: %+v, %v, not %+v", m, got, e, want)
@@ -45,7 +46,7 @@ func answers(t *testing.T, g *group.Group, i int, m, want wire.Msg) {
 func silent(t *testing.T, g *group.Group, i int, b []byte) {
 	t.Helper()
 	before, _ := g.Node(0)
-	if got := Take(g, i, b); got != nil {
+	if got := front.Take(g, i, b); got != nil {
 		t.Errorf("%x is answered: %x", b, got)
 	}
 	if n, _ := g.Node(0); !replica.Same(n, before) {
@@ -128,11 +129,11 @@ func TestP1701Asks(t *testing.T) {
 		return wire.Msg{Kind: wire.MDelta, Device: 2, At: at, Next: next, Ops: l}
 	}
 	answers(t, g, 1, ask(1, 0, true, true, true), delta(0, 0))
-	Take(g, 0, bytesOf(t, order1(api.CRegister, 1)))
+	front.Take(g, 0, bytesOf(t, order1(api.CRegister, 1)))
 	l := []api.Op{op(1, 1, 0), op(2, 2, 1), op(3, 1, 0), op(4, 1, 2), op(5, 1, 0), op(6, 3, 0), op(7, 1, 0)}
 	m := order1(api.CMerge, 0)
 	m.Cmd.Ops = l
-	Take(g, 0, bytesOf(t, m))
+	front.Take(g, 0, bytesOf(t, m))
 	g.Calm(3)
 	no := wire.Msg{Kind: wire.MNo, Device: 2, Err: api.ErrNew}
 	for i := range 3 {
@@ -151,26 +152,50 @@ func TestP1701Asks(t *testing.T) {
 	}
 }
 
-// A lease of more ranges than a message may have: the bytes of wire.Bytes are none.
+// A lease of more ranges than a message may have: wire.Bytes has no bytes for it, and so it is no answer.
 func TestP1701NoBytes(t *testing.T) {
-	var ranges []api.Range
-	for n := range 101 {
-		ranges = append(ranges, api.Range{From: 2 * n, To: 2*n + 1})
+	var l []api.Counter
+	var wants []api.Want
+	for _, key := range []string{"a", "b", "c", "d", ""} {
+		if key != "" {
+			l = append(l, api.Counter{Key: key})
+		}
+		wants = append(wants, api.Want{Key: key, Ids: api.MaxBlock})
 	}
-	reply := func(api.Cmd) (api.Reply, api.Errno) { return api.Reply{Lease: api.Lease{Ids: ranges}}, api.OK }
-	if b := written(order{device: 1, cmd: api.Cmd{Kind: api.CCheckout, Device: 1}, do: reply}); b != nil {
+	g, _ := group.New(l, api.MaxIds)
+	g.Calm(60)
+	do := func(c api.Cmd) {
+		t.Helper()
+		if r, e := g.Do(0, c); e != api.OK || r.Err != api.OK {
+			t.Fatal(e, r.Err)
+		}
+	}
+	do(api.Cmd{Kind: api.CRegister, Device: 1, Req: 1})
+	do(api.Cmd{Kind: api.CCheckout, Device: 1, Epoch: 1, Req: 2, N: 1, Wants: wants})
+	for seq := range 125 { // every second one of 250 identifiers
+		o := api.Op{Dot: api.Dot{Device: 1, Epoch: 1, Seq: seq + 1}, Ver: 1, Kind: api.KBind, N: 2 * seq}
+		do(api.Cmd{Kind: api.CMerge, Device: 1, Epoch: 1, Ops: []api.Op{o}})
+	}
+	do(api.Cmd{Kind: api.CClose, Device: 1, Epoch: 1, Req: 3, N: 125})
+	do(api.Cmd{Kind: api.CTime, N: 6})
+	do(api.Cmd{Kind: api.CReclaim, Device: 1})
+	m := wire.Msg{Kind: wire.MCmd, Device: 1, Cmd: api.Cmd{Kind: api.CCheckout, Device: 1, Epoch: 1, Req: 4, N: 1, Wants: wants}}
+	if b := front.Take(g, 0, bytesOf(t, m)); b != nil {
 		t.Errorf("%x", b)
+	}
+	if d := g.Desk(0); len(d.Book.Leases) != 1 || len(d.Book.Leases[0].Ids) <= 100 {
+		t.Errorf("%+v", d.Book)
 	}
 }
 
 func TestP1702(t *testing.T) {
 	g := open3(t)
-	Take(g, 0, bytesOf(t, order1(api.CRegister, 1)))
+	front.Take(g, 0, bytesOf(t, order1(api.CRegister, 1)))
 	before := [3]api.Desk{g.Desk(0), g.Desk(1), g.Desk(2)}
 	under := g.Under()
 	for at := range 4 {
 		for i := range 3 {
-			b := Take(g, i, bytesOf(t, ask(1+at%3, at, true, true, true)))
+			b := front.Take(g, i, bytesOf(t, ask(1+at%3, at, true, true, true)))
 			if _, e := frames.One(b); e != api.OK {
 				t.Error(e)
 			}

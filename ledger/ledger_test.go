@@ -1,4 +1,4 @@
-package ledger
+package ledger_test
 
 import (
 	"math"
@@ -9,6 +9,7 @@ import (
 	"testing"
 
 	"escrow/api"
+	"escrow/ledger"
 	"escrow/plain"
 )
 
@@ -20,7 +21,7 @@ func counters() []api.Counter {
 
 func start(t *testing.T) api.Book {
 	t.Helper()
-	b, e := New(counters(), 100)
+	b, e := ledger.New(counters(), 100)
 	if e != api.OK {
 		t.Fatal(e)
 	}
@@ -29,7 +30,7 @@ func start(t *testing.T) api.Book {
 
 func grant(t *testing.T, b api.Book, device int, wants ...api.Want) (api.Book, api.Lease) {
 	t.Helper()
-	b, l, e := Grant(b, device, 1, 50, wants)
+	b, l, e := ledger.Grant(b, device, 1, 50, wants)
 	if e != api.OK {
 		t.Fatal(e)
 	}
@@ -39,10 +40,10 @@ func grant(t *testing.T, b api.Book, device int, wants ...api.Want) (api.Book, a
 func TestP1201New(t *testing.T) {
 	b := start(t)
 	want := api.Book{Counters: []api.Counter{{Key: "a", Hi: 10, Start: 4, Up: 6, Down: 4}, {Key: "b", Coll: 2, Lo: -big, Hi: big, Up: big, Down: big}}, Free: []api.Range{{To: 100}}}
-	if !Same(b, want) {
+	if !ledger.Same(b, want) {
 		t.Errorf("%v", b)
 	}
-	if b, e := New(nil, 0); e != api.OK || !Same(b, api.Book{}) {
+	if b, e := ledger.New(nil, 0); e != api.OK || !ledger.Same(b, api.Book{}) {
 		t.Errorf("%v, %v", b, e)
 	}
 	for i, c := range []struct {
@@ -68,7 +69,7 @@ func TestP1201New(t *testing.T) {
 		{nil, -1, api.ErrArg},
 		{nil, 1001, api.ErrArg},
 	} {
-		if b, e := New(c.l, c.ids); e != c.want || e != api.OK && !Same(b, api.Book{}) {
+		if b, e := ledger.New(c.l, c.ids); e != c.want || e != api.OK && !ledger.Same(b, api.Book{}) {
 			t.Errorf("%d: %v, %v", i, b, e)
 		}
 	}
@@ -76,17 +77,17 @@ func TestP1201New(t *testing.T) {
 
 func TestP1201Find(t *testing.T) {
 	b, l := grant(t, start(t), 3, api.Want{Key: "a", Up: 1}, api.Want{Ids: 2})
-	if got, ok := Find(b, 3, 1); !ok || !plain.SameLease(got, l) {
+	if got, ok := ledger.Find(b, 3, 1); !ok || !plain.SameLease(got, l) {
 		t.Errorf("%v", got)
 	}
 	for _, k := range [][2]int{{3, 2}, {2, 1}, {-1, 1}} {
-		if got, ok := Find(b, k[0], k[1]); ok || !reflect.DeepEqual(got, api.Lease{}) {
+		if got, ok := ledger.Find(b, k[0], k[1]); ok || !reflect.DeepEqual(got, api.Lease{}) {
 			t.Errorf("%v: %v", k, got)
 		}
 	}
-	got, _ := Find(b, 3, 1)
+	got, _ := ledger.Find(b, 3, 1)
 	got.Slices[0].Up, got.Ids[0].To, l.Slices[0].Up = 77, 77, 77
-	if again, _ := Find(b, 3, 1); again.Slices[0].Up != 1 || again.Ids[0].To != 2 {
+	if again, _ := ledger.Find(b, 3, 1); again.Slices[0].Up != 1 || again.Ids[0].To != 2 {
 		t.Error("memory is shared")
 	}
 }
@@ -154,8 +155,8 @@ func TestP1202Errors(t *testing.T) {
 		{0, 1, 0, wants{{Key: "a", Ids: 50}, {Key: "b", Ids: 11}, {Ids: -1}}, api.ErrRights},
 	} {
 		before := plain.Book(b)
-		got, l, e := Grant(b, c.device, c.epoch, c.until, c.wants)
-		if e != c.want || e != api.OK && (!Same(got, b) || !reflect.DeepEqual(l, api.Lease{})) || !Same(b, before) {
+		got, l, e := ledger.Grant(b, c.device, c.epoch, c.until, c.wants)
+		if e != c.want || e != api.OK && (!ledger.Same(got, b) || !reflect.DeepEqual(l, api.Lease{})) || !ledger.Same(b, before) {
 			t.Errorf("%d: %v, %v", i, e, l)
 		}
 	}
@@ -189,7 +190,7 @@ func TestP1203Spend(t *testing.T) {
 		{op(api.KRem, "k", 0), api.OK},
 	} {
 		before := plain.Lease(l)
-		next, e := Spend(l, c.o)
+		next, e := ledger.Spend(l, c.o)
 		if e != c.want || !plain.SameLease(l, before) || e != api.OK && !plain.SameLease(next, l) {
 			t.Errorf("%d: %v, %v", i, e, next)
 		}
@@ -203,17 +204,17 @@ func TestP1203Spend(t *testing.T) {
 func TestP1203Put(t *testing.T) {
 	b, _ := grant(t, start(t), 1, api.Want{Key: "a", Up: 1})
 	b, l := grant(t, b, 2, api.Want{Key: "a", Up: 2})
-	l, _ = Spend(l, op(api.KCount, "a", 2))
+	l, _ = ledger.Spend(l, op(api.KCount, "a", 2))
 	l.Last = 7
-	next, e := Put(b, l)
-	if got, ok := Find(next, 2, 1); e != api.OK || !ok || !plain.SameLease(got, l) || len(next.Leases) != 2 {
+	next, e := ledger.Put(b, l)
+	if got, ok := ledger.Find(next, 2, 1); e != api.OK || !ok || !plain.SameLease(got, l) || len(next.Leases) != 2 {
 		t.Errorf("%v, %v", next, e)
 	}
-	if got, _ := Find(b, 2, 1); got.Last != -1 {
+	if got, _ := ledger.Find(b, 2, 1); got.Last != -1 {
 		t.Error("Put changed its argument")
 	}
 	l.Epoch = 2
-	if got, e := Put(b, l); e != api.ErrNone || !Same(got, b) {
+	if got, e := ledger.Put(b, l); e != api.ErrNone || !ledger.Same(got, b) {
 		t.Errorf("%v", e)
 	}
 }
@@ -223,32 +224,32 @@ func TestP1204Free(t *testing.T) {
 	b, _ = grant(t, b, 0, api.Want{Ids: 2})
 	b, l := grant(t, b, 2, api.Want{Key: "a", Up: 5, Down: 3}, api.Want{Ids: 5})
 	for _, o := range []api.Op{op(api.KCount, "a", 2), op(api.KCount, "a", -3), op(api.KBind, "", 6), op(api.KBind, "", 3)} {
-		l, _ = Spend(l, o)
+		l, _ = ledger.Spend(l, o)
 	}
-	b, _ = Put(b, l)
+	b, _ = ledger.Put(b, l)
 	for _, k := range [][2]int{{2, 2}, {1, 1}, {-1, 0}} {
-		if got, e := Free(b, k[0], k[1]); e != api.ErrNone || !Same(got, b) {
+		if got, e := ledger.Free(b, k[0], k[1]); e != api.ErrNone || !ledger.Same(got, b) {
 			t.Errorf("%v: %v", k, e)
 		}
 	}
-	if n := Totals(b, "a"); n != [6]int{1, 3, 2, 1, 0, 3} {
+	if n := ledger.Totals(b, "a"); n != [6]int{1, 3, 2, 1, 0, 3} {
 		t.Errorf("%v", n)
 	}
-	b, e := Free(b, 2, 1)
+	b, e := ledger.Free(b, 2, 1)
 	if e != api.OK || b.Counters[0].Up != 4 || b.Counters[0].Down != 1 || !slices.Equal(b.Bound, []int{3, 6}) || len(b.Leases) != 1 ||
 		!slices.Equal(b.Free, []api.Range{{From: 2, To: 3}, {From: 4, To: 6}, {From: 7, To: 100}}) {
 		t.Errorf("%v", b)
 	}
-	if n := Totals(b, "a"); n != [6]int{4, 0, 2, 1, 0, 3} {
+	if n := ledger.Totals(b, "a"); n != [6]int{4, 0, 2, 1, 0, 3} {
 		t.Errorf("%v", n)
 	}
-	if n := Totals(b, "none"); n != [6]int{} {
+	if n := ledger.Totals(b, "none"); n != [6]int{} {
 		t.Errorf("%v", n)
 	}
-	l, _ = Find(b, 0, 1)
-	l, _ = Spend(l, op(api.KBind, "", 0))
-	b, _ = Put(b, l)
-	b, _ = Free(b, 0, 1)
+	l, _ = ledger.Find(b, 0, 1)
+	l, _ = ledger.Spend(l, op(api.KBind, "", 0))
+	b, _ = ledger.Put(b, l)
+	b, _ = ledger.Free(b, 0, 1)
 	if !slices.Equal(b.Bound, []int{0, 3, 6}) || b.Free[0] != (api.Range{From: 1, To: 3}) {
 		t.Errorf("%v", b)
 	}
@@ -256,14 +257,14 @@ func TestP1204Free(t *testing.T) {
 
 func TestP1204Sound(t *testing.T) {
 	b, l := grant(t, start(t), 1, api.Want{Key: "a", Up: 3, Down: 1, Ids: 5}, api.Want{Key: "b", Up: 5})
-	l, _ = Spend(l, op(api.KBind, "", 4))
-	l, _ = Spend(l, op(api.KBind, "", 2))
-	b, _ = Put(b, l)
+	l, _ = ledger.Spend(l, op(api.KBind, "", 4))
+	l, _ = ledger.Spend(l, op(api.KBind, "", 2))
+	b, _ = ledger.Put(b, l)
 	b, _ = grant(t, b, 3, api.Want{Ids: 5}, api.Want{Key: "a", Up: 1})
 	b, _ = grant(t, b, 4, api.Want{Ids: 5})
-	b, _ = Free(b, 4, 1)
+	b, _ = ledger.Free(b, 4, 1)
 	b.Bound = []int{-5, 500, 600}
-	if !Sound(b) || !Sound(api.Book{}) || !Sound(start(t)) {
+	if !ledger.Sound(b) || !ledger.Sound(api.Book{}) || !ledger.Sound(start(t)) {
 		t.Fatal("a sound one")
 	}
 	for i, change := range []func(b *api.Book){
@@ -312,13 +313,13 @@ func TestP1204Sound(t *testing.T) {
 	} {
 		c := plain.Book(b)
 		change(&c)
-		if Sound(c) || Same(b, c) {
+		if ledger.Sound(c) || ledger.Same(b, c) {
 			t.Errorf("change %d is not seen", i)
 		}
 	}
 	b.Free = append(b.Free, api.Range{From: 5000, To: 1 << 30})
 	b.Leases[0].Epoch, b.Leases[0].Until, b.Leases[0].Last = -1, math.MinInt, -9
-	if !Sound(b) {
+	if !ledger.Sound(b) {
 		t.Error("what Sound does not ask for")
 	}
 }
@@ -330,11 +331,11 @@ func TestP1204Same(t *testing.T) {
 	} {
 		c := plain.Book(b)
 		change(&c)
-		if Same(b, c) {
+		if ledger.Same(b, c) {
 			t.Errorf("change %d is not seen", i)
 		}
 	}
-	if !Same(b, plain.Book(b)) || !Same(api.Book{}, api.Book{Bound: []int{}}) {
+	if !ledger.Same(b, plain.Book(b)) || !ledger.Same(api.Book{}, api.Book{Bound: []int{}}) {
 		t.Error("equal ones differ")
 	}
 }
@@ -356,11 +357,11 @@ func TestP1205(t *testing.T) {
 				}
 				wants = append(wants, w)
 			}
-			b, _, _ = Grant(b, device, epoch, rnd.Intn(9), wants)
+			b, _, _ = ledger.Grant(b, device, epoch, rnd.Intn(9), wants)
 		case 1:
-			b, _ = Free(b, device, epoch)
+			b, _ = ledger.Free(b, device, epoch)
 		default:
-			l, ok := Find(b, device, epoch)
+			l, ok := ledger.Find(b, device, epoch)
 			if !ok {
 				continue
 			}
@@ -368,15 +369,15 @@ func TestP1205(t *testing.T) {
 			if rnd.Intn(3) == 0 {
 				o = op(api.KBind, "", rnd.Intn(100))
 			}
-			if l, e := Spend(l, o); e == api.OK && o.N != 0 {
-				b, _ = Put(b, l)
+			if l, e := ledger.Spend(l, o); e == api.OK && o.N != 0 {
+				b, _ = ledger.Put(b, l)
 			}
 		}
-		if !Sound(b) {
+		if !ledger.Sound(b) {
 			t.Fatalf("%v", b)
 		}
 		for _, c := range b.Counters {
-			n := Totals(b, c.Key)
+			n := ledger.Totals(b, c.Key)
 			if n[0]+n[1]+n[2] != c.Hi-c.Start || n[3]+n[4]+n[5] != c.Start-c.Lo || slices.Min(n[:]) < 0 {
 				t.Fatalf("%v: %v", c, n)
 			}

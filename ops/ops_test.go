@@ -1,4 +1,4 @@
-package ops
+package ops_test
 
 import (
 	"bytes"
@@ -10,6 +10,7 @@ import (
 
 	"escrow/api"
 	"escrow/code"
+	"escrow/ops"
 )
 
 const top = 1 << 40
@@ -67,7 +68,7 @@ func TestP901AllKinds(t *testing.T) {
 			},
 		} {
 			for i, change := range l {
-				if e := Check(good(kind, change)); e != want {
+				if e := ops.Check(good(kind, change)); e != want {
 					t.Errorf("kind %d, %v %d: %v", kind, want, i, e)
 				}
 			}
@@ -110,7 +111,7 @@ func TestP901ByKind(t *testing.T) {
 		{api.KBind, func(o *api.Op) { o.N = 1000 }, api.ErrOver},
 		{api.KBind, func(o *api.Op) { o.N = -1 }, api.ErrOver},
 	} {
-		if e := Check(good(c.kind, c.change)); e != c.want {
+		if e := ops.Check(good(c.kind, c.change)); e != c.want {
 			t.Errorf("%d: %v, not %v", i, e, c.want)
 		}
 	}
@@ -127,20 +128,20 @@ func TestP902Bytes(t *testing.T) {
 		want = code.Int(want, n)
 	}
 	in := make([]byte, 1, 500)
-	if b := Bytes(in, o); b[0] != 0 || !bytes.Equal(b[1:], want) || !bytes.Equal(in[:500], make([]byte, 500)) {
+	if b := ops.Bytes(in, o); b[0] != 0 || !bytes.Equal(b[1:], want) || !bytes.Equal(in[:500], make([]byte, 500)) {
 		t.Errorf("%x", b)
 	}
 }
 
 func TestP902Parse(t *testing.T) {
-	b := Bytes(nil, good(api.KRem, nil))
+	b := ops.Bytes(nil, good(api.KRem, nil))
 	for k := range b {
-		if o, e := Parse(b[:k]); e != api.ErrCut || !reflect.DeepEqual(o, api.Op{}) {
+		if o, e := ops.Parse(b[:k]); e != api.ErrCut || !reflect.DeepEqual(o, api.Op{}) {
 			t.Errorf("%d bytes: %v, %v", k, o, e)
 		}
 	}
 	dots := func(n int) []byte {
-		b := Bytes(nil, good(api.KSet, nil))
+		b := ops.Bytes(nil, good(api.KSet, nil))
 		return append(b[:len(b)-1], code.Int(nil, n)...)
 	}
 	for i, c := range []struct {
@@ -148,19 +149,19 @@ func TestP902Parse(t *testing.T) {
 		want api.Errno
 	}{
 		{append(bytes.Clone(b), 0), api.ErrMore},
-		{append(Bytes(nil, api.Op{}), 0), api.ErrMore},
-		{Bytes(nil, api.Op{}), api.ErrArg},
+		{append(ops.Bytes(nil, api.Op{}), 0), api.ErrMore},
+		{ops.Bytes(nil, api.Op{}), api.ErrArg},
 		{append([]byte{128}, b...), api.ErrBad},
 		{dots(9), api.ErrMany},
 		{append(dots(9), 128, 1), api.ErrMany},
 		{dots(-1), api.ErrMany},
 		{dots(8), api.ErrCut},
 		{append(dots(1), 128), api.ErrBad},
-		{Bytes(nil, good(api.KSet, func(o *api.Op) { o.Key = strings.Repeat("x", 65536) })), api.ErrMany},
-		{Bytes(nil, good(api.KSet, func(o *api.Op) { o.Key = strings.Repeat("x", 65535) })), api.ErrLong},
-		{Bytes(nil, good(9, nil)), api.ErrKind},
+		{ops.Bytes(nil, good(api.KSet, func(o *api.Op) { o.Key = strings.Repeat("x", 65536) })), api.ErrMany},
+		{ops.Bytes(nil, good(api.KSet, func(o *api.Op) { o.Key = strings.Repeat("x", 65535) })), api.ErrLong},
+		{ops.Bytes(nil, good(9, nil)), api.ErrKind},
 	} {
-		if o, e := Parse(c.b); e != c.want || !reflect.DeepEqual(o, api.Op{}) {
+		if o, e := ops.Parse(c.b); e != c.want || !reflect.DeepEqual(o, api.Op{}) {
 			t.Errorf("%d: %v, %v", i, o, e)
 		}
 	}
@@ -173,11 +174,11 @@ func TestP902Same(t *testing.T) {
 		func(o *api.Op) { o.Text = "" }, func(o *api.Op) { o.N++ }, func(o *api.Op) { o.Time++ },
 		func(o *api.Op) { o.Dots = nil }, func(o *api.Op) { o.Dots[2].Seq++ },
 	} {
-		if Same(good(api.KRem, nil), good(api.KRem, change)) {
+		if ops.Same(good(api.KRem, nil), good(api.KRem, change)) {
 			t.Errorf("change %d is not seen", i)
 		}
 	}
-	if !Same(good(api.KRem, nil), good(api.KRem, nil)) || !Same(api.Op{}, api.Op{Dots: []api.Dot{}}) {
+	if !ops.Same(good(api.KRem, nil), good(api.KRem, nil)) || !ops.Same(api.Op{}, api.Op{Dots: []api.Dot{}}) {
 		t.Error("equal ones differ")
 	}
 }
@@ -191,8 +192,8 @@ func TestP903(t *testing.T) {
 			o.Time = rnd.Intn(top)
 			o.Text = strings.Repeat("\xfe", rnd.Intn(42))
 		})
-		p, e := Parse(Bytes(nil, o))
-		if want := Check(o); e != want || e == api.OK && !Same(o, p) {
+		p, e := ops.Parse(ops.Bytes(nil, o))
+		if want := ops.Check(o); e != want || e == api.OK && !ops.Same(o, p) {
 			t.Fatalf("%v: %v, %v", o, p, e)
 		}
 	}

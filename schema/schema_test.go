@@ -1,4 +1,4 @@
-package schema
+package schema_test
 
 import (
 	"math"
@@ -6,6 +6,7 @@ import (
 	"testing"
 
 	"escrow/api"
+	"escrow/schema"
 )
 
 func TestP801Up(t *testing.T) {
@@ -33,7 +34,7 @@ func TestP801Up(t *testing.T) {
 		{"x", 2, 1, "", api.ErrNew},
 		{"x", 3, 2, "", api.ErrNew},
 	} {
-		if s, e := Up(c.text, c.from, c.to); s != c.want || e != c.e {
+		if s, e := schema.Up(c.text, c.from, c.to); s != c.want || e != c.e {
 			t.Errorf("%q, %d, %d: %q, %v", c.text, c.from, c.to, s, e)
 		}
 	}
@@ -49,7 +50,7 @@ func TestP801Pick(t *testing.T) {
 			case mine > theirs:
 				want, we = 0, api.ErrNew
 			}
-			if n, e := Pick(mine, theirs); n != want || e != we {
+			if n, e := schema.Pick(mine, theirs); n != want || e != we {
 				t.Errorf("%d, %d: %d, %v", mine, theirs, n, e)
 			}
 		}
@@ -63,9 +64,9 @@ func TestP802(t *testing.T) {
 		for i := range b {
 			b[i] = " AzZ\xc3\x84\t"[rnd.Intn(7)]
 		}
-		once, _ := Up(string(b), 1, 3)
-		half, _ := Up(string(b), 1, 2)
-		if twice, e := Up(half, 2, 3); twice != once || e != api.OK {
+		once, _ := schema.Up(string(b), 1, 3)
+		half, _ := schema.Up(string(b), 1, 2)
+		if twice, e := schema.Up(half, 2, 3); twice != once || e != api.OK {
 			t.Fatalf("%q: %q, %q", b, once, twice)
 		}
 	}

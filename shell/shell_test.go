@@ -1,4 +1,4 @@
-package shell
+package shell_test
 
 import (
 	"math/rand"
@@ -8,6 +8,7 @@ import (
 	"testing"
 
 	"escrow/api"
+	"escrow/shell"
 )
 
 func TestP2201Words(t *testing.T) {
@@ -31,7 +32,7 @@ func TestP2201Words(t *testing.T) {
 		`"\\"`:                   {`\`},
 		"\u00a0x":                {"\u00a0x"},
 	} {
-		if l, e := Words(line); e != api.OK || !slices.Equal(l, want) {
+		if l, e := shell.Words(line); e != api.OK || !slices.Equal(l, want) {
 			t.Errorf("%q: %q, %v", line, l, e)
 		}
 	}
@@ -39,7 +40,7 @@ func TestP2201Words(t *testing.T) {
 		`"`, `"a`, `a"`, `a"b"`, `"a"b`, `"a"#`, `"a""b"`, `"\"`, `"\`, `"\a"`, `"\x"`, `"\x1"`, `"\x1`, `"\x1g"`, `"\xFF"`, `"\xfF"`, `"\X00"`, `"\N"`,
 		`ok "`, `ok x" # y`, `"a"` + "\n", `"\x`, `"\ n"`,
 	} {
-		if l, e := Words(line); e != api.ErrWord || l != nil {
+		if l, e := shell.Words(line); e != api.ErrWord || l != nil {
 			t.Errorf("%q: %q, %v", line, l, e)
 		}
 	}
@@ -49,7 +50,7 @@ func TestP2201Quote(t *testing.T) {
 	for s, want := range map[string]string{
 		"": `""`, "a b#": `"a b#"`, "\\\"\n\t": `"\\\"\n\t"`, "\x00\x1f \x7e\x7f\x80\xff": `"\x00\x1f ~\x7f\x80\xff"`, "\r": `"\x0d"`, "\u00e4": `"\xc3\xa4"`,
 	} {
-		if q := Quote([]byte(s)); q != want {
+		if q := shell.Quote([]byte(s)); q != want {
 			t.Errorf("%q: %s", s, q)
 		}
 	}
@@ -57,7 +58,7 @@ func TestP2201Quote(t *testing.T) {
 	for range 3000 {
 		b := make([]byte, rnd.Intn(9))
 		rnd.Read(b)
-		if l, e := Words(" " + Quote(b) + "\t#"); e != api.OK || len(l) != 1 || l[0] != string(b) {
+		if l, e := shell.Words(" " + shell.Quote(b) + "\t#"); e != api.OK || len(l) != 1 || l[0] != string(b) {
 			t.Fatalf("%q: %q, %v", b, l, e)
 		}
 	}
@@ -71,7 +72,7 @@ func says(t *testing.T, script string) {
 		line, said, _ := strings.Cut(strings.TrimSpace(l), " => ")
 		lines, want = append(lines, line), append(want, said)
 	}
-	got := strings.Split(Run(strings.Join(lines, "\n")), "\n")
+	got := strings.Split(shell.Run(strings.Join(lines, "\n")), "\n")
 	if len(got) != len(want)+1 || got[len(want)] != "" {
 		t.Fatalf("%d lines, not %d: %q", len(got)-1, len(want), got)
 	}
@@ -243,29 +244,29 @@ func TestP2202Lines(t *testing.T) {
 		"\nkept\n \n# x\nkept": "\nok 1\n\n\nok 1\n",
 		"kept\r\n":             "word\n",
 	} {
-		if got := Run(script); got != want {
+		if got := shell.Run(script); got != want {
 			t.Errorf("%q: %q", script, got)
 		}
 	}
-	if Run("register 0") != "ok\n" || Run("register 0") != "ok\n" {
+	if shell.Run("register 0") != "ok\n" || shell.Run("register 0") != "ok\n" {
 		t.Error("something remains of an earlier Run")
 	}
 }
 
 func TestP2202TooLong(t *testing.T) {
-	if got := Run(strings.Repeat("\n", 512)); got != strings.Repeat("\n", 512) {
+	if got := shell.Run(strings.Repeat("\n", 512)); got != strings.Repeat("\n", 512) {
 		t.Error("512 lines")
 	}
-	if got := Run(strings.Repeat("\n", 512) + "x"); got != "long\n" {
+	if got := shell.Run(strings.Repeat("\n", 512) + "x"); got != "long\n" {
 		t.Errorf("513 lines: %q", got)
 	}
-	if got := Run(strings.Repeat("\n", 513)); got != "long\n" {
+	if got := shell.Run(strings.Repeat("\n", 513)); got != "long\n" {
 		t.Errorf("513 lines: %q", got)
 	}
-	if got := Run("#" + strings.Repeat("x", 65535)); got != "\n" {
+	if got := shell.Run("#" + strings.Repeat("x", 65535)); got != "\n" {
 		t.Errorf("65536 bytes: %q", got)
 	}
-	if got := Run("#" + strings.Repeat("x", 65536)); got != "long\n" {
+	if got := shell.Run("#" + strings.Repeat("x", 65536)); got != "long\n" {
 		t.Errorf("65537 bytes: %q", got)
 	}
 }
@@ -277,7 +278,7 @@ func TestP2202MaxAnswer(t *testing.T) {
 	big := strings.Repeat(`\xff`, 15000)
 	script := strings.Repeat("up2 \""+big+"\" 3 3\n", 1)
 	saidBig := "ok \"" + big + "\"\n"
-	if got := Run(script); got != saidBig {
+	if got := shell.Run(script); got != saidBig {
 		t.Fatal("one line")
 	}
 	// members of a set are told many times over: 180 texts of 40 bytes that need escapes
@@ -287,8 +288,8 @@ func TestP2202MaxAnswer(t *testing.T) {
 		b.WriteString("do 0 0 2 s " + strings.Repeat("\xff", 37) + strconv.Itoa(100+i) + " 0\n")
 	}
 	head := b.String()
-	headSaid := Run(head)
-	one := strings.TrimPrefix(Run(head+"members 0 s\n"), headSaid)
+	headSaid := shell.Run(head)
+	one := strings.TrimPrefix(shell.Run(head+"members 0 s\n"), headSaid)
 	if len(one) < 20000 {
 		t.Fatal(len(one))
 	}
@@ -297,7 +298,7 @@ func TestP2202MaxAnswer(t *testing.T) {
 	left := room - many*len(one)
 	fill := left/len(said) + 1
 	script = head + strings.Repeat("members 0 s\n", many) + strings.Repeat(line, fill) + "\nregister 1\nstate 1\n"
-	got := Run(script)
+	got := shell.Run(script)
 	want := headSaid + strings.Repeat(one, many) + strings.Repeat(said, fill-1) + "long\nlong\nlong\nlong\n"
 	if len(script) > api.MaxScript || got != want {
 		t.Errorf("%d bytes of script: %q", len(script), got[max(0, len(got)-60):])
@@ -310,14 +311,14 @@ func TestP2202MaxAnswer(t *testing.T) {
 	}
 	script = head + strings.Repeat("members 0 s\n", many) + strings.Repeat(line, fill-1)
 	exact := script + "up2 \"" + strings.Repeat("a", pad) + "\" 3 3\n"
-	if got := Run(exact); len(got) != api.MaxAnswer || strings.HasSuffix(got, "long\n") {
+	if got := shell.Run(exact); len(got) != api.MaxAnswer || strings.HasSuffix(got, "long\n") {
 		t.Errorf("%d bytes of output: %q", len(got), got[len(got)-60:])
 	}
-	if got := Run(exact + "\nkept\n"); !strings.HasSuffix(got, "a\"\nlong\nlong\n") {
+	if got := shell.Run(exact + "\nkept\n"); !strings.HasSuffix(got, "a\"\nlong\nlong\n") {
 		t.Errorf("%q", got[len(got)-60:])
 	}
 	more := script + "up2 \"" + strings.Repeat("a", pad+1) + "\" 3 3\n"
-	if got := Run(more); !strings.HasSuffix(got, "\nlong\n") {
+	if got := shell.Run(more); !strings.HasSuffix(got, "\nlong\n") {
 		t.Errorf("%q", got[len(got)-60:])
 	}
 }
@@ -337,12 +338,12 @@ func TestP2203(t *testing.T) {
 			lines = append(lines, line)
 			noisy = append(noisy, "", line, "nothing here", "state \"", "# "+line)
 		}
-		whole := strings.SplitAfter(Run(strings.Join(lines, "\n")), "\n")
+		whole := strings.SplitAfter(shell.Run(strings.Join(lines, "\n")), "\n")
 		k := rnd.Intn(len(lines))
-		if part := Run(strings.Join(lines[:k], "\n")); part != strings.Join(whole[:k], "") {
+		if part := shell.Run(strings.Join(lines[:k], "\n")); part != strings.Join(whole[:k], "") {
 			t.Fatalf("%q: %q, %q", lines, part, whole)
 		}
-		said := strings.SplitAfter(Run(strings.Join(noisy, "\n")), "\n")
+		said := strings.SplitAfter(shell.Run(strings.Join(noisy, "\n")), "\n")
 		for i := range lines {
 			if said[5*i] != "\n" || said[5*i+1] != whole[i] || said[5*i+2] != "word\n" || said[5*i+3] != "word\n" || said[5*i+4] != "\n" {
 				t.Fatalf("line %d, %s: %q, %q", i, lines[i], said[5*i:5*i+5], whole[i])

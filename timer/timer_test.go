@@ -1,4 +1,4 @@
-package timer
+package timer_test
 
 import (
 	"cmp"
@@ -8,12 +8,13 @@ import (
 	"testing"
 
 	"escrow/api"
+	"escrow/timer"
 )
 
 func TestP601Order(t *testing.T) {
-	q := New()
-	for _, x := range []item{{1, 5}, {2, 3}, {9, 3}, {4, -7}, {0, 6}} {
-		if e := q.Set(x.id, x.at); e != api.OK {
+	q := timer.New()
+	for _, x := range [][2]int{{1, 5}, {2, 3}, {9, 3}, {4, -7}, {0, 6}} {
+		if e := q.Set(x[0], x[1]); e != api.OK {
 			t.Fatal(e)
 		}
 	}
@@ -38,7 +39,7 @@ func TestP601Order(t *testing.T) {
 }
 
 func TestP601Set(t *testing.T) {
-	q := New()
+	q := timer.New()
 	if q.Set(-1, 0) != api.ErrArg || q.Len() != 0 {
 		t.Error("negative id")
 	}
@@ -70,7 +71,7 @@ func TestP601Set(t *testing.T) {
 }
 
 func TestP601Cancel(t *testing.T) {
-	q := New()
+	q := timer.New()
 	q.Set(1, 1)
 	q.Set(2, 2)
 	if q.Cancel(3) || !q.Cancel(1) || q.Cancel(1) || q.Cancel(-1) {
@@ -85,7 +86,7 @@ func TestP601Cancel(t *testing.T) {
 }
 
 func TestP601Apart(t *testing.T) {
-	p, q := New(), New()
+	p, q := timer.New(), timer.New()
 	p.Set(1, 1)
 	if q.Len() != 0 || len(q.Due(9)) != 0 || p.Len() != 1 {
 		t.Error("two objects affect one another")
@@ -95,7 +96,7 @@ func TestP601Apart(t *testing.T) {
 // Against a plain map: each id comes once, in order of time and id.
 func TestP602(t *testing.T) {
 	rnd := rand.New(rand.NewSource(1))
-	q, want := New(), map[int]int{}
+	q, want := timer.New(), map[int]int{}
 	for range 20000 {
 		id, at := rnd.Intn(130), rnd.Intn(50)
 		switch rnd.Intn(8) {

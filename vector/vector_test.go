@@ -1,23 +1,25 @@
-package vector
+package vector_test
 
 import (
+	"cmp"
 	"math"
 	"math/rand"
 	"slices"
 	"testing"
 
 	"escrow/api"
+	"escrow/vector"
 )
 
 var some = []api.Entry{{Device: 0, Epoch: 1, Seq: 4}, {Device: 0, Epoch: 3, Seq: 1}, {Device: 2, Epoch: 1, Seq: 7}}
 
 func TestP701Get(t *testing.T) {
 	for e, want := range map[[2]int]int{{0, 1}: 4, {0, 3}: 1, {2, 1}: 7, {0, 2}: 0, {1, 1}: 0, {2, 2}: 0, {-1, 0}: 0, {9, 9}: 0} {
-		if n := Get(some, e[0], e[1]); n != want {
+		if n := vector.Get(some, e[0], e[1]); n != want {
 			t.Errorf("%v: %d", e, n)
 		}
 	}
-	if Get(nil, 0, 1) != 0 {
+	if vector.Get(nil, 0, 1) != 0 {
 		t.Error("the empty vector")
 	}
 }
@@ -28,7 +30,7 @@ func TestP701Has(t *testing.T) {
 		{Device: 0, Epoch: 1, Seq: 0}: false, {Device: 0, Epoch: 1, Seq: -1}: false, {Device: 1, Epoch: 1, Seq: 1}: false,
 		{Device: 9, Epoch: 9, Seq: 0}: false,
 	} {
-		if Has(some, d) != want {
+		if vector.Has(some, d) != want {
 			t.Errorf("%v: %v", d, !want)
 		}
 	}
@@ -55,7 +57,7 @@ func TestP701Step(t *testing.T) {
 	} {
 		in := make([]api.Entry, 3, 9)
 		copy(in, some)
-		v, e := Step(in, c.d)
+		v, e := vector.Step(in, c.d)
 		if e != c.want || len(v) != c.size || c.size > 0 && v[c.at] != api.Entry(c.d) {
 			t.Errorf("%v: %v, %v", c.d, v, e)
 		}
@@ -63,7 +65,7 @@ func TestP701Step(t *testing.T) {
 			t.Fatal("the argument was written to")
 		}
 	}
-	if v, e := Step(nil, api.Dot{Device: 1, Epoch: 1, Seq: 3}); e != api.OK || !slices.Equal(v, []api.Entry{{Device: 1, Epoch: 1, Seq: 3}}) {
+	if v, e := vector.Step(nil, api.Dot{Device: 1, Epoch: 1, Seq: 3}); e != api.OK || !slices.Equal(v, []api.Entry{{Device: 1, Epoch: 1, Seq: 3}}) {
 		t.Errorf("%v, %v", v, e)
 	}
 }
@@ -71,18 +73,18 @@ func TestP701Step(t *testing.T) {
 func TestP701Join(t *testing.T) {
 	b := []api.Entry{{Device: 0, Epoch: 1, Seq: 2}, {Device: 0, Epoch: 2, Seq: 2}, {Device: 0, Epoch: 3, Seq: 5}, {Device: 5, Epoch: 1, Seq: 1}}
 	want := []api.Entry{{Device: 0, Epoch: 1, Seq: 4}, {Device: 0, Epoch: 2, Seq: 2}, {Device: 0, Epoch: 3, Seq: 5}, {Device: 2, Epoch: 1, Seq: 7}, {Device: 5, Epoch: 1, Seq: 1}}
-	if v := Join(some, b); !slices.Equal(v, want) {
+	if v := vector.Join(some, b); !slices.Equal(v, want) {
 		t.Errorf("%v", v)
 	}
-	if v := Join(b, some); !slices.Equal(v, want) {
+	if v := vector.Join(b, some); !slices.Equal(v, want) {
 		t.Errorf("%v", v)
 	}
-	v := Join(some, nil)
-	if !slices.Equal(v, some) || len(Join(nil, nil)) != 0 {
+	v := vector.Join(some, nil)
+	if !slices.Equal(v, some) || len(vector.Join(nil, nil)) != 0 {
 		t.Errorf("%v", v)
 	}
 	v[0].Seq = 99
-	w := Join(nil, some)
+	w := vector.Join(nil, some)
 	w[0].Seq = 98
 	if some[0].Seq != 4 {
 		t.Error("memory is shared")
@@ -90,13 +92,13 @@ func TestP701Join(t *testing.T) {
 }
 
 func TestP701Le(t *testing.T) {
-	more, _ := Step(some, api.Dot{Device: 1, Epoch: 1, Seq: 1})
-	greater, _ := Step(some, api.Dot{Device: 0, Epoch: 1, Seq: 5})
+	more, _ := vector.Step(some, api.Dot{Device: 1, Epoch: 1, Seq: 1})
+	greater, _ := vector.Step(some, api.Dot{Device: 0, Epoch: 1, Seq: 5})
 	for _, c := range []struct {
 		a, b []api.Entry
 		want bool
 	}{{nil, nil, true}, {nil, some, true}, {some, nil, false}, {some, some, true}, {some, more, true}, {more, some, false}, {some, greater, true}, {greater, some, false}, {greater, more, false}} {
-		if Le(c.a, c.b) != c.want {
+		if vector.Le(c.a, c.b) != c.want {
 			t.Errorf("%v, %v: %v", c.a, c.b, !c.want)
 		}
 	}
@@ -105,7 +107,7 @@ func TestP701Le(t *testing.T) {
 func random(rnd *rand.Rand) []api.Entry {
 	var v []api.Entry
 	for range rnd.Intn(6) {
-		v, _ = Step(v, api.Dot{Device: rnd.Intn(2), Epoch: rnd.Intn(3), Seq: 1 + rnd.Intn(3)})
+		v, _ = vector.Step(v, api.Dot{Device: rnd.Intn(2), Epoch: rnd.Intn(3), Seq: 1 + rnd.Intn(3)})
 	}
 	return v
 }
@@ -114,14 +116,14 @@ func TestP702(t *testing.T) {
 	rnd := rand.New(rand.NewSource(1))
 	for range 5000 {
 		a, b, c := random(rnd), random(rnd), random(rnd)
-		v := Join(a, b)
-		if !Le(a, v) || !Le(b, v) {
+		v := vector.Join(a, b)
+		if !vector.Le(a, v) || !vector.Le(b, v) {
 			t.Fatalf("%v of %v and %v", v, a, b)
 		}
-		if Le(a, c) && Le(b, c) && !Le(v, c) {
+		if vector.Le(a, c) && vector.Le(b, c) && !vector.Le(v, c) {
 			t.Fatalf("%v of %v and %v: %v is less", v, a, b, c)
 		}
-		if !slices.IsSortedFunc(v, order) {
+		if !slices.IsSortedFunc(v, func(a, b api.Entry) int { return cmp.Or(a.Device-b.Device, a.Epoch-b.Epoch) }) {
 			t.Fatalf("%v", v)
 		}
 	}

@@ -1,4 +1,4 @@
-package wire
+package wire_test
 
 import (
 	"bytes"
@@ -12,6 +12,7 @@ import (
 	"escrow/code"
 	"escrow/frames"
 	"escrow/ops"
+	"escrow/wire"
 )
 
 func op(seq int) api.Op {
@@ -26,13 +27,13 @@ func reply() api.Reply {
 	return api.Reply{Err: api.ErrGone, N: 6, Lease: api.Lease{Device: 1, Epoch: 2, Until: 3, Last: -1, Slices: []api.Slice{{Key: "s", Up: 4, Down: 5, UsedUp: 6, UsedDown: 7}}, Ids: []api.Range{{From: 8, To: 9}, {From: 10, To: 70}}, Used: []int{11, 12}}}
 }
 
-func messages() []Msg {
-	return []Msg{
-		{Kind: MCmd, Device: 4, Cmd: command()},
-		{Kind: MReply, Device: 4, Req: 5, At: 6, Reply: reply()},
-		{Kind: MAsk, Device: 4, Ver: 3, At: 6, Subs: []bool{true, false, true}},
-		{Kind: MDelta, Device: 4, At: 6, Next: 8, Ops: []api.Op{op(3)}},
-		{Kind: MNo, Device: 4, Req: 5, Err: api.ErrNew},
+func messages() []wire.Msg {
+	return []wire.Msg{
+		{Kind: wire.MCmd, Device: 4, Cmd: command()},
+		{Kind: wire.MReply, Device: 4, Req: 5, At: 6, Reply: reply()},
+		{Kind: wire.MAsk, Device: 4, Ver: 3, At: 6, Subs: []bool{true, false, true}},
+		{Kind: wire.MDelta, Device: 4, At: 6, Next: 8, Ops: []api.Op{op(3)}},
+		{Kind: wire.MNo, Device: 4, Req: 5, Err: api.ErrNew},
 	}
 }
 
@@ -64,20 +65,20 @@ func cmdBytes() []byte {
 }
 
 func TestP1401Cmd(t *testing.T) {
-	if b := Cmd(command()); !bytes.Equal(b, cmdBytes()) {
+	if b := wire.Cmd(command()); !bytes.Equal(b, cmdBytes()) {
 		t.Errorf("%x", b)
 	}
-	if b := Cmd(api.Cmd{}); !bytes.Equal(b, make([]byte, 7)) {
+	if b := wire.Cmd(api.Cmd{}); !bytes.Equal(b, make([]byte, 7)) {
 		t.Errorf("%x", b)
 	}
 }
 
 func TestP1401ParseCmd(t *testing.T) {
-	if c, e := ParseCmd(cmdBytes()); e != api.OK || !reflect.DeepEqual(c, command()) {
+	if c, e := wire.ParseCmd(cmdBytes()); e != api.OK || !reflect.DeepEqual(c, command()) {
 		t.Errorf("%v, %v", c, e)
 	}
 	for k := range cmdBytes() {
-		if c, e := ParseCmd(cmdBytes()[:k]); e != api.ErrCut || !reflect.DeepEqual(c, api.Cmd{}) {
+		if c, e := wire.ParseCmd(cmdBytes()[:k]); e != api.ErrCut || !reflect.DeepEqual(c, api.Cmd{}) {
 			t.Errorf("%d bytes: %v, %v", k, c, e)
 		}
 	}
@@ -103,11 +104,11 @@ func TestP1401ParseCmd(t *testing.T) {
 		{enc(0, 0, 0, 0, 0, 0, 2, ops.Bytes(nil, kind), ops.Bytes(nil, wrong)), api.ErrKind},
 		{enc(0, 0, 0, 0, 0, 0, 1, ops.Bytes(nil, wrong), 0), api.ErrMore},
 		{enc(0, 0, 0, 0, 0, 0, 2, ops.Bytes(nil, dots)), api.ErrMany},
-		{Cmd(api.Cmd{Wants: make([]api.Want, 21)}), api.ErrMany},
-		{Cmd(api.Cmd{Wants: []api.Want{{Key: strings.Repeat("x", 65536)}}}), api.ErrMany},
-		{Cmd(api.Cmd{Wants: make([]api.Want, 20), N: math.MinInt}), api.OK},
+		{wire.Cmd(api.Cmd{Wants: make([]api.Want, 21)}), api.ErrMany},
+		{wire.Cmd(api.Cmd{Wants: []api.Want{{Key: strings.Repeat("x", 65536)}}}), api.ErrMany},
+		{wire.Cmd(api.Cmd{Wants: make([]api.Want, 20), N: math.MinInt}), api.OK},
 	} {
-		if _, e := ParseCmd(c.b); e != c.want {
+		if _, e := wire.ParseCmd(c.b); e != c.want {
 			t.Errorf("%d: %v, not %v", i, e, c.want)
 		}
 	}
@@ -122,43 +123,43 @@ func TestP1402Bytes(t *testing.T) {
 		enc(4, 4, 6, 8, 1, o),
 		enc(5, 4, 5, 13),
 	} {
-		if b, e := Bytes(messages()[i]); e != api.OK || !bytes.Equal(b, framed(want)) {
+		if b, e := wire.Bytes(messages()[i]); e != api.OK || !bytes.Equal(b, framed(want)) {
 			t.Errorf("%d: %x, %v", i, b, e)
 		}
 	}
 }
 
 func TestP1402Errors(t *testing.T) {
-	lease := func(l api.Lease) Msg { return Msg{Kind: MReply, Reply: api.Reply{Lease: l}} }
+	lease := func(l api.Lease) wire.Msg { return wire.Msg{Kind: wire.MReply, Reply: api.Reply{Lease: l}} }
 	for i, c := range []struct {
-		m    Msg
+		m    wire.Msg
 		want api.Errno
 	}{
-		{Msg{}, api.ErrKind},
-		{Msg{Kind: 6, Ops: make([]api.Op, 21)}, api.ErrKind},
-		{Msg{Kind: MAsk}, api.ErrArg},
-		{Msg{Kind: MAsk, Subs: make([]bool, 4)}, api.ErrArg},
-		{Msg{Kind: MAsk, Subs: make([]bool, 3), Ops: make([]api.Op, 21)}, api.OK},
-		{Msg{Kind: MCmd, Cmd: api.Cmd{Wants: make([]api.Want, 21)}}, api.ErrMany},
-		{Msg{Kind: MCmd, Cmd: api.Cmd{Ops: make([]api.Op, 21)}}, api.ErrMany},
-		{Msg{Kind: MCmd, Cmd: api.Cmd{Ops: make([]api.Op, 20), Wants: make([]api.Want, 20)}, Ops: make([]api.Op, 21)}, api.OK},
-		{Msg{Kind: MDelta, Ops: make([]api.Op, 21)}, api.ErrMany},
-		{Msg{Kind: MDelta, Ops: make([]api.Op, 20), Cmd: api.Cmd{Ops: make([]api.Op, 21)}}, api.OK},
+		{wire.Msg{}, api.ErrKind},
+		{wire.Msg{Kind: 6, Ops: make([]api.Op, 21)}, api.ErrKind},
+		{wire.Msg{Kind: wire.MAsk}, api.ErrArg},
+		{wire.Msg{Kind: wire.MAsk, Subs: make([]bool, 4)}, api.ErrArg},
+		{wire.Msg{Kind: wire.MAsk, Subs: make([]bool, 3), Ops: make([]api.Op, 21)}, api.OK},
+		{wire.Msg{Kind: wire.MCmd, Cmd: api.Cmd{Wants: make([]api.Want, 21)}}, api.ErrMany},
+		{wire.Msg{Kind: wire.MCmd, Cmd: api.Cmd{Ops: make([]api.Op, 21)}}, api.ErrMany},
+		{wire.Msg{Kind: wire.MCmd, Cmd: api.Cmd{Ops: make([]api.Op, 20), Wants: make([]api.Want, 20)}, Ops: make([]api.Op, 21)}, api.OK},
+		{wire.Msg{Kind: wire.MDelta, Ops: make([]api.Op, 21)}, api.ErrMany},
+		{wire.Msg{Kind: wire.MDelta, Ops: make([]api.Op, 20), Cmd: api.Cmd{Ops: make([]api.Op, 21)}}, api.OK},
 		{lease(api.Lease{Slices: make([]api.Slice, 21)}), api.ErrMany},
 		{lease(api.Lease{Ids: make([]api.Range, 101)}), api.ErrMany},
 		{lease(api.Lease{Used: make([]int, 101)}), api.ErrMany},
 		{lease(api.Lease{Slices: make([]api.Slice, 20), Ids: make([]api.Range, 100), Used: make([]int, 100)}), api.OK},
-		{Msg{Kind: MNo, Err: 99}, api.OK},
-		{Msg{Kind: MCmd, Cmd: api.Cmd{Wants: []api.Want{{Key: strings.Repeat("x", 1<<22)}}}}, api.ErrLong},
+		{wire.Msg{Kind: wire.MNo, Err: 99}, api.OK},
+		{wire.Msg{Kind: wire.MCmd, Cmd: api.Cmd{Wants: []api.Want{{Key: strings.Repeat("x", 1<<22)}}}}, api.ErrLong},
 	} {
-		if b, e := Bytes(c.m); e != c.want || (e != api.OK) != (b == nil) {
+		if b, e := wire.Bytes(c.m); e != c.want || (e != api.OK) != (b == nil) {
 			t.Errorf("%d: %v, not %v", i, e, c.want)
 		}
 	}
 }
 
 func TestP1403Errors(t *testing.T) {
-	good, _ := Bytes(messages()[0])
+	good, _ := wire.Bytes(messages()[0])
 	broken := bytes.Clone(good)
 	broken[20] ^= 1
 	wrong, used := ops.Bytes(nil, op(0)), make([]int, 101)
@@ -199,7 +200,7 @@ func TestP1403Errors(t *testing.T) {
 		{framed(enc(2, 0, 0, 0, 0, 0, 0, 0, 0, 0, 0, 0, used[:100])), api.OK},
 		{framed(enc(2, 0, 0, 0, 0, 0, 0, 0, 0, 0, 0, 0, 70000)), api.ErrMany},
 	} {
-		if m, e := Parse(c.b); e != c.want || e != api.OK && !reflect.DeepEqual(m, Msg{}) {
+		if m, e := wire.Parse(c.b); e != c.want || e != api.OK && !reflect.DeepEqual(m, wire.Msg{}) {
 			t.Errorf("%d: %v, not %v", i, e, c.want)
 		}
 	}
@@ -208,44 +209,44 @@ func TestP1403Errors(t *testing.T) {
 func TestP1403Same(t *testing.T) {
 	for i, m := range messages() {
 		for k, o := range messages() {
-			if Same(m, o) != (i == k) {
+			if wire.Same(m, o) != (i == k) {
 				t.Errorf("%d, %d", i, k)
 			}
 		}
 	}
-	used := map[int][]func(m *Msg){
-		0: {func(m *Msg) { m.Device++ }, func(m *Msg) { m.Cmd.Kind++ }, func(m *Msg) { m.Cmd.Device++ }, func(m *Msg) { m.Cmd.Epoch++ }, func(m *Msg) { m.Cmd.Req++ }, func(m *Msg) { m.Cmd.N++ }, func(m *Msg) { m.Cmd.Wants[1].Ids++ }, func(m *Msg) { m.Cmd.Ops[1].Dots[0].Seq++ }},
-		1: {func(m *Msg) { m.Req++ }, func(m *Msg) { m.At++ }, func(m *Msg) { m.Reply.Err-- }, func(m *Msg) { m.Reply.N++ }, func(m *Msg) { m.Reply.Lease.Last++ }, func(m *Msg) { m.Reply.Lease.Used = nil }},
-		2: {func(m *Msg) { m.Ver++ }, func(m *Msg) { m.At++ }, func(m *Msg) { m.Subs[1] = true }},
-		3: {func(m *Msg) { m.At++ }, func(m *Msg) { m.Next++ }, func(m *Msg) { m.Ops[0].N++ }, func(m *Msg) { m.Ops = nil }},
-		4: {func(m *Msg) { m.Req++ }, func(m *Msg) { m.Err++ }, func(m *Msg) { m.Device-- }},
+	used := map[int][]func(m *wire.Msg){
+		0: {func(m *wire.Msg) { m.Device++ }, func(m *wire.Msg) { m.Cmd.Kind++ }, func(m *wire.Msg) { m.Cmd.Device++ }, func(m *wire.Msg) { m.Cmd.Epoch++ }, func(m *wire.Msg) { m.Cmd.Req++ }, func(m *wire.Msg) { m.Cmd.N++ }, func(m *wire.Msg) { m.Cmd.Wants[1].Ids++ }, func(m *wire.Msg) { m.Cmd.Ops[1].Dots[0].Seq++ }},
+		1: {func(m *wire.Msg) { m.Req++ }, func(m *wire.Msg) { m.At++ }, func(m *wire.Msg) { m.Reply.Err-- }, func(m *wire.Msg) { m.Reply.N++ }, func(m *wire.Msg) { m.Reply.Lease.Last++ }, func(m *wire.Msg) { m.Reply.Lease.Used = nil }},
+		2: {func(m *wire.Msg) { m.Ver++ }, func(m *wire.Msg) { m.At++ }, func(m *wire.Msg) { m.Subs[1] = true }},
+		3: {func(m *wire.Msg) { m.At++ }, func(m *wire.Msg) { m.Next++ }, func(m *wire.Msg) { m.Ops[0].N++ }, func(m *wire.Msg) { m.Ops = nil }},
+		4: {func(m *wire.Msg) { m.Req++ }, func(m *wire.Msg) { m.Err++ }, func(m *wire.Msg) { m.Device-- }},
 	}
 	for i, l := range used {
 		for k, change := range l {
 			m := messages()[i]
-			if change(&m); Same(m, messages()[i]) {
+			if change(&m); wire.Same(m, messages()[i]) {
 				t.Errorf("kind %d, change %d is not seen", i+1, k)
 			}
 		}
 	}
 	other := messages()[2]
 	other.Req, other.Err, other.Next, other.Ops = 9, 9, 9, make([]api.Op, 1)
-	if !Same(other, messages()[2]) {
+	if !wire.Same(other, messages()[2]) {
 		t.Error("fields that the kind does not use are compared")
 	}
 }
 
 func TestP1404(t *testing.T) {
 	for _, m := range messages() {
-		b, _ := Bytes(m)
-		if got, e := Parse(b); e != api.OK || !Same(got, m) || !reflect.DeepEqual(got, m) {
+		b, _ := wire.Bytes(m)
+		if got, e := wire.Parse(b); e != api.OK || !wire.Same(got, m) || !reflect.DeepEqual(got, m) {
 			t.Errorf("%v, %v", got, e)
 		}
 	}
 	m := messages()[0]
 	m.Req, m.Ver, m.At, m.Next, m.Subs, m.Err, m.Reply, m.Ops = 1, 1, 1, 1, make([]bool, 9), 1, reply(), []api.Op{op(1)}
-	b, _ := Bytes(m)
-	if got, e := Parse(b); e != api.OK || !Same(got, m) || !reflect.DeepEqual(got, messages()[0]) {
+	b, _ := wire.Bytes(m)
+	if got, e := wire.Parse(b); e != api.OK || !wire.Same(got, m) || !reflect.DeepEqual(got, messages()[0]) {
 		t.Errorf("%v, %v", got, e)
 	}
 }
@@ -254,16 +255,16 @@ func TestP1404(t *testing.T) {
 func TestP1404AnyBytes(t *testing.T) {
 	rnd := rand.New(rand.NewSource(1))
 	for range 20000 {
-		b, _ := Bytes(messages()[rnd.Intn(5)])
+		b, _ := wire.Bytes(messages()[rnd.Intn(5)])
 		record, _ := frames.One(b)
 		for range 1 + rnd.Intn(2) {
 			record[rnd.Intn(len(record))] = byte(rnd.Intn(256))
 		}
-		m, e := Parse(framed(record))
+		m, e := wire.Parse(framed(record))
 		if e != api.OK {
 			continue
 		}
-		if again, e := Bytes(m); e != api.OK || !bytes.Equal(again, framed(record)) {
+		if again, e := wire.Bytes(m); e != api.OK || !bytes.Equal(again, framed(record)) {
 			t.Fatalf("%x: %v, %v", record, m, e)
 		}
 	}

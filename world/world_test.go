@@ -1,4 +1,4 @@
-package world
+package world_test
 
 import (
 	"math"
@@ -14,15 +14,16 @@ import (
 	"escrow/local"
 	"escrow/ops"
 	"escrow/replica"
+	"escrow/world"
 )
 
 func counters() []api.Counter {
 	return []api.Counter{{Key: "x", Hi: 20, Start: 10}, {Key: "y", Coll: 1, Lo: -100, Hi: 100}}
 }
 
-func start(t *testing.T, clients int) *World {
+func start(t *testing.T, clients int) *world.World {
 	t.Helper()
-	w, e := New(counters(), 50, clients)
+	w, e := world.New(counters(), 50, clients)
 	if e != api.OK {
 		t.Fatal(e)
 	}
@@ -38,8 +39,17 @@ func ok(t *testing.T, l ...api.Errno) {
 	}
 }
 
+// clients tells how many clients a world has.
+func clients(w *world.World) int {
+	n := 0
+	for w.Edge(n) != nil {
+		n++
+	}
+	return n
+}
+
 // running is a world whose clients have epochs and leases.
-func running(t *testing.T, clients int) *World {
+func running(t *testing.T, clients int) *world.World {
 	t.Helper()
 	w := start(t, clients)
 	for i := range clients {
@@ -79,11 +89,11 @@ func TestP2001(t *testing.T) {
 		t.Error("these are the objects themselves")
 	}
 	for _, n := range []int{0, -1, 7, math.MaxInt} {
-		if w, e := New(make([]api.Counter, 9), 50, n); e != api.ErrArg || w != nil {
+		if w, e := world.New(make([]api.Counter, 9), 50, n); e != api.ErrArg || w != nil {
 			t.Error(n, e)
 		}
 	}
-	if w, e := New(make([]api.Counter, 9), 50, 6); e != api.ErrMany || w != nil {
+	if w, e := world.New(make([]api.Counter, 9), 50, 6); e != api.ErrMany || w != nil {
 		t.Error(e)
 	}
 }
@@ -229,11 +239,11 @@ func TestP2005(t *testing.T) {
 
 	// a round by hand
 	v, u := running(t, 3), running(t, 3)
-	for _, w := range []*World{v, u} {
+	for _, w := range []*world.World{v, u} {
+		ok(t, w.Clock(9, nil))
 		ok(t, w.Edge(0).Do(api.Op{Kind: api.KSet, Key: "k", Text: "a"}), w.Edge(2).Do(api.Op{Kind: api.KSet, Key: "k", Text: "b"}))
 		w.Send(2, 0)
 		w.Send(0, 1)
-		w.now = 9
 	}
 	v.Sync(1)
 	empty := func() {
@@ -267,7 +277,7 @@ func TestP2005(t *testing.T) {
 }
 
 // even tells whether servers and clients have all that was accepted, and read it alike.
-func even(t *testing.T, w *World) {
+func even(t *testing.T, w *world.World) {
 	t.Helper()
 	d := w.Group().Desk(0)
 	for i := range 3 {
@@ -279,7 +289,7 @@ func even(t *testing.T, w *World) {
 	for _, e := range d.Lost {
 		lost[api.Dot{Device: e.Device, Epoch: e.Epoch}] = 1
 	}
-	for i := range w.clients {
+	for i := range clients(w) {
 		s := w.Edge(i).State()
 		if s.Fenced || lost[api.Dot{Device: i, Epoch: s.Epoch}] > 0 {
 			continue
@@ -296,7 +306,7 @@ func even(t *testing.T, w *World) {
 }
 
 // sound tells whether counters are within their bounds and no identifier means two things, over all that was accepted.
-func sound(t *testing.T, w *World) {
+func sound(t *testing.T, w *world.World) {
 	t.Helper()
 	best, top := 0, -1
 	for i := range 3 {
@@ -309,7 +319,7 @@ func sound(t *testing.T, w *World) {
 		t.Fatalf("%+v", d.Book)
 	}
 	accepted := d.Log
-	for i := range w.clients {
+	for i := range clients(w) {
 		for _, o := range w.Edge(i).State().Pending {
 			taken := false
 			for _, x := range d.Log {
@@ -346,8 +356,8 @@ func sound(t *testing.T, w *World) {
 }
 
 // anything does a random thing to a world.
-func anything(rnd *rand.Rand, w *World, step int) {
-	i, server := rnd.Intn(len(w.clients)), rnd.Intn(3)
+func anything(rnd *rand.Rand, w *world.World, step int) {
+	i, server := rnd.Intn(clients(w)), rnd.Intn(3)
 	c := w.Edge(i)
 	switch p := rnd.Intn(100); {
 	case p < 20:
@@ -404,7 +414,7 @@ func TestP2006(t *testing.T) {
 			w.Group().Wake(i)
 		}
 		rounds := 100 + len(w.Group().Desk(0).Log)
-		for i := range w.clients {
+		for i := range clients(w) {
 			rounds += len(w.Edge(i).State().Pending)
 		}
 		for ; rounds > 0; rounds -= 200 {
@@ -416,7 +426,7 @@ func TestP2006(t *testing.T) {
 }
 
 func TestP3SameCallsSameResults(t *testing.T) {
-	run := func() *World {
+	run := func() *world.World {
 		rnd := rand.New(rand.NewSource(7))
 		w := running(t, 3)
 		for step := range 800 {
