@@ -107,6 +107,22 @@ func TestP1302KindsAndTime(t *testing.T) {
 	}
 }
 
+func TestP1302Edges(t *testing.T) {
+	d, _ := do(t, start(t), api.Cmd{Kind: api.CTime, N: 0}, register(5, 1), register(0, 1<<30))
+	d, r := do(t, d, checkout(5, 2, 1, api.Want{Key: "x", Up: 10, Down: 10}))
+	if r.Lease.Until != 1 || d.Now != 0 {
+		t.Errorf("%+v", r)
+	}
+	d, _ = do(t, d, api.Cmd{Kind: api.CClose, Device: 5, Epoch: 1, Req: 3, N: 1 << 30})
+	if l, _ := ledger.Find(d.Book, 5, 1); l.Last != 1<<30 {
+		t.Errorf("%+v", l)
+	}
+	d, _ = do(t, d, api.Cmd{Kind: api.CClose, Device: 5, Epoch: 1, Req: 4}, api.Cmd{Kind: api.CTime, N: 6}, api.Cmd{Kind: api.CReclaim, Device: 5})
+	if n := ledger.Totals(d.Book, "x"); n != [6]int{10, 0, 0, 10, 0, 0} {
+		t.Errorf("%v", n)
+	}
+}
+
 func TestP1302Requests(t *testing.T) {
 	d := start(t)
 	for _, kind := range []int{api.CRegister, api.CCheckout, api.CClose} {

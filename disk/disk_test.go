@@ -78,6 +78,25 @@ func TestP301Operations(t *testing.T) {
 	want(t, d, "", "0123456789", 6)
 }
 
+func TestP301Cut(t *testing.T) {
+	d := open(t, 10)
+	d.Append([]byte("abc"))
+	if d.Cut(4) != api.ErrArg || d.Cut(3) != api.OK {
+		t.Error("Cut to the whole length")
+	}
+	want(t, d, "abc", "", 2)
+	if d.Cut(0) != api.OK || d.Cut(0) != api.OK || d.Cut(1) != api.ErrArg {
+		t.Error("Cut to nothing")
+	}
+	want(t, d, "", "", 4)
+	d.Append([]byte("abc"))
+	d.Cut(2) // what is left is synced
+	if d.Crash(0) != 0 {
+		t.Error("Crash kept bytes that are synced")
+	}
+	want(t, d, "ab", "", 6)
+}
+
 func TestP301Dead(t *testing.T) {
 	d := open(t, 10)
 	d.Append([]byte("ab"))

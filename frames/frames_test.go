@@ -81,6 +81,21 @@ func TestP202One(t *testing.T) {
 	}
 }
 
+func TestP202LongAndMore(t *testing.T) {
+	b := make([]byte, 8+1<<22+9)
+	copy(b, "\x00\x40\x00\x01")
+	if record, e := frames.One(b); e != api.ErrLong || record != nil {
+		t.Errorf("%v", e)
+	}
+	copy(b, "\x00\x40\x00\x00")
+	if record, e := frames.One(b); e != api.ErrMore || record != nil {
+		t.Errorf("%v", e)
+	}
+	if l, n := frames.Scan(b); len(l) != 0 || n != 0 {
+		t.Errorf("%d records, %d", len(l), n)
+	}
+}
+
 func TestP202Scan(t *testing.T) {
 	a, b := frame(t, "abc"), frame(t, "")
 	all := append(bytes.Clone(a), b...)

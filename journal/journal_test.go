@@ -120,6 +120,9 @@ func TestP401OpenErrors(t *testing.T) {
 	d.Stop(1)
 	d.Sync()
 	wrongs(d, api.ErrDead)
+	d = newDisk(t, 100)
+	d.Swap([]byte("x"))
+	wrongs(d, api.ErrBad)
 
 	d = newDisk(t, 100)
 	good, _ := frames.Frame([]byte("r"))

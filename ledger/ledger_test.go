@@ -297,7 +297,7 @@ func TestP1204Sound(t *testing.T) {
 		func(b *api.Book) { b.Free[0].From = 300 },
 		func(b *api.Book) { b.Free = append(b.Free, api.Range{From: 100, To: 101}) },
 		func(b *api.Book) { b.Free = append(b.Free, api.Range{From: 200, To: 200}) },
-		func(b *api.Book) { b.Free = append(b.Free, api.Range{From: 200, To: 1<<30 + 1}) },
+		func(b *api.Book) { b.Free = append(b.Free, api.Range{From: 2000, To: 1<<30 + 1}) },
 		func(b *api.Book) { b.Free = append(b.Free, api.Range{From: 50, To: 60}) },
 		func(b *api.Book) { b.Free[0].From = -1 },
 		func(b *api.Book) { b.Free[0].From = 9 },
@@ -321,6 +321,58 @@ func TestP1204Sound(t *testing.T) {
 	b.Leases[0].Epoch, b.Leases[0].Until, b.Leases[0].Last = -1, math.MinInt, -9
 	if !ledger.Sound(b) {
 		t.Error("what Sound does not ask for")
+	}
+}
+
+func TestP1204SoundEdges(t *testing.T) {
+	lease := func(s api.Slice) api.Book {
+		c := api.Counter{Key: "a", Lo: -big, Start: -big, Hi: big, Up: 0}
+		return api.Book{Counters: []api.Counter{c}, Leases: []api.Lease{{Device: 5, Slices: []api.Slice{s}}}}
+	}
+	for i, c := range []struct {
+		b    api.Book
+		want bool
+	}{
+		{lease(api.Slice{Key: "a", Up: 2 * big}), true},
+		{lease(api.Slice{Key: "a", Up: 2 * big, UsedUp: 2 * big}), true},
+		{lease(api.Slice{Key: "a", Up: 2*big + 1, UsedUp: 2*big + 1}), false},
+		{lease(api.Slice{Key: "a", Down: 2 * big, UsedDown: 2 * big}), true},
+		{lease(api.Slice{Key: "a", Down: 2*big + 1, UsedDown: 2*big + 1}), false},
+		{lease(api.Slice{Key: "a", Up: 1, UsedUp: 1, Down: 1}), false},
+		{api.Book{Free: []api.Range{{From: -1, To: 5}}}, false},
+		{api.Book{Free: []api.Range{{From: 0, To: 1 << 30}}}, true},
+		{api.Book{Free: []api.Range{{From: 0, To: 1<<30 + 1}}}, false},
+		{api.Book{Free: []api.Range{{From: math.MinInt, To: math.MaxInt}}}, false},
+		{api.Book{Bound: []int{math.MinInt, 0, math.MaxInt}}, true},
+		{api.Book{Bound: []int{math.MaxInt, math.MinInt}}, false},
+	} {
+		if ledger.Sound(c.b) != c.want {
+			t.Errorf("%d: %v", i, !c.want)
+		}
+	}
+}
+
+func TestP1204FreeGivesBack(t *testing.T) {
+	b, l := grant(t, start(t), 2, api.Want{Key: "a", Up: 5, Down: 3}, api.Want{Key: "b", Up: 7, Down: 8})
+	l, _ = ledger.Spend(l, op(api.KCount, "a", 1))
+	l, _ = ledger.Spend(l, op(api.KCount, "a", -2))
+	b, _ = ledger.Put(b, l)
+	b, e := ledger.Free(b, 2, 1)
+	if e != api.OK || b.Counters[0].Up != 5 || b.Counters[0].Down != 2 || b.Counters[1].Up != big || b.Counters[1].Down != big {
+		t.Errorf("%v, %v", b.Counters, e)
+	}
+}
+
+func TestP1202FiveWants(t *testing.T) {
+	l := []api.Counter{{Key: "a"}, {Key: "b"}, {Key: "c"}, {Key: "d"}}
+	b, _ := ledger.New(l, 300)
+	var wants []api.Want
+	for _, key := range []string{"a", "", "b", "c", "d"} {
+		wants = append(wants, api.Want{Key: key, Ids: 50})
+	}
+	b, lease, e := ledger.Grant(b, 5, 1<<30, 0, wants)
+	if e != api.OK || len(lease.Slices) != 4 || !slices.Equal(lease.Ids, []api.Range{{To: 250}}) || !slices.Equal(b.Free, []api.Range{{From: 250, To: 300}}) {
+		t.Errorf("%v, %v", lease, e)
 	}
 }
 

@@ -120,6 +120,7 @@ func TestP1802Checkout(t *testing.T) {
 		c.Kind = api.CCheckout
 		refused(t, s, api.ErrArg)(local.Begin(s, c))
 	}
+	must(t)(local.Begin(s, api.Cmd{Kind: api.CCheckout, N: 1}))
 	wants := []api.Want{{Key: "x", Up: -5}, {}, {}, {}, {}}
 	next := must(t)(local.Begin(s, api.Cmd{Kind: api.CCheckout, N: 1000, Wants: wants}))
 	wants[0].Up = 9

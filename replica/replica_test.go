@@ -204,6 +204,16 @@ func TestP1503Voted(t *testing.T) {
 	takes(t, n, old, nil)
 	n.Role = replica.Follower
 	takes(t, n, yes, nil)
+	for id := range 3 { // any two votes will do
+		for from := range 3 {
+			m := replica.Msg{Kind: replica.RVoted, From: from, To: id, Term: 3, Yes: true}
+			c := replica.Node{Id: id, Term: 3, Vote: id, Role: replica.Candidate}
+			c.Votes[id] = true
+			if won, _ := replica.Take(c, m); from != id && (won.Role != replica.Leader || !won.Votes[from] || !won.Votes[id]) {
+				t.Errorf("%d with the vote of %d: %+v", id, from, won)
+			}
+		}
+	}
 	alone := replica.Node{Id: 1, Term: 3, Role: replica.Candidate}
 	takes(t, alone, yes, func(n *replica.Node) { n.Votes[2] = true })
 }
@@ -270,6 +280,10 @@ func TestP1503Added(t *testing.T) {
 	takes(t, n, added(1, false, 3), func(n *replica.Node) { n.Next[1] = 3 }, replica.Msg{Kind: replica.RAdd, From: 0, To: 1, Term: 3, Index: 2, LogTerm: 1, Entries: n.Log, Commit: 2})
 	takes(t, n, added(1, false, 0), func(n *replica.Node) { n.Next[1] = 1 }, snap)
 	takes(t, n, added(1, false, -5), func(n *replica.Node) { n.Next[1] = 1 }, snap)
+	takes(t, n, added(2, false, 3), func(n *replica.Node) { n.Next[2] = 3 }, replica.Msg{Kind: replica.RAdd, From: 0, To: 2, Term: 3, Index: 2, LogTerm: 1, Entries: n.Log, Commit: 2})
+	n.Next[1] = 9
+	takes(t, n, added(1, false, 3), func(n *replica.Node) { n.Next[1] = 4 }, replica.Msg{Kind: replica.RAdd, From: 0, To: 1, Term: 3, Index: 3, LogTerm: 2, Entries: n.Log[1:], Commit: 2})
+	takes(t, n, added(1, false, 4), func(n *replica.Node) { n.Next[1] = 5 })
 	n.Match[1] = 4
 	n.Next[1] = 5
 	takes(t, n, added(1, false, 0), func(n *replica.Node) { n.Next[1] = 5 })
