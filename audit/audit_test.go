@@ -97,6 +97,26 @@ func TestP2101BestDesk(t *testing.T) {
 	}
 }
 
+// The server that knows best is not always the first one, nor one that is up.
+func TestP2101BestIsNotFirst(t *testing.T) {
+	w := running(t)
+	w.Group().Crash(0)
+	w.Sync(60)
+	ok(t, w.Edge(0).Do(count("x", 3, 0)), w.Edge(1).Do(bind(7)))
+	w.Sync(9)
+	if len(w.Edge(0).State().Pending) > 0 || !slices.Equal(audit.Values(w), []int{13, 0}) || !audit.Even(w) {
+		t.Error(audit.Values(w), audit.Even(w))
+	}
+	w.Group().Wake(0)
+	if !slices.Equal(audit.Values(w), []int{13, 0}) || audit.Even(w) || !audit.Kept(w) {
+		t.Error("server 0 lags", audit.Values(w))
+	}
+	w.Sync(9)
+	if !slices.Equal(audit.Values(w), []int{13, 0}) || !audit.Even(w) {
+		t.Error("server 0 has caught up", audit.Values(w))
+	}
+}
+
 func TestP2101Even(t *testing.T) {
 	w := running(t)
 	w.Sync(5)

@@ -142,6 +142,52 @@ func TestP1602Follows(t *testing.T) {
 	}
 }
 
+// A log of more than 40 entries is compacted, up to what is committed; each snapshot begins with the one before.
+func TestP1602Compacts(t *testing.T) {
+	g := open(t)
+	g.Calm(60)
+	var texts []string
+	for i := range 130 {
+		do(t, g, 0, clock(i+1))
+		texts = append(texts, string(code.Text(nil, string(wire.Cmd(clock(i+1))))))
+		n := node(g, 0)
+		if base := (i + 1) / 40 * 40; n.Base != base || len(n.Log) != i+2-base || n.Commit != i+2 { // one entry is the leader's own
+			t.Fatalf("after %d commands: base %d, %d entries, commit %d", i+1, n.Base, len(n.Log), n.Commit)
+		}
+		if want := strings.Join(texts[:max(n.Base-1, 0)], ""); n.Snap != want {
+			t.Fatalf("after %d commands: %q, not %q", i+1, n.Snap, want)
+		}
+	}
+	g.Calm(2)
+	before := g.Desk(0)
+	g.Crash(0)
+	g.Wake(0)
+	if !desk.Same(g.Desk(0), before) || before.Now != 130 {
+		t.Error("a desk from a snapshot")
+	}
+}
+
+// While nothing more is committed, the log grows.
+func TestP1602Grows(t *testing.T) {
+	g := open(t)
+	g.Calm(60)
+	g.Crash(1)
+	g.Crash(2)
+	for i := range 60 {
+		if _, e := g.Do(0, clock(i+1)); e != api.ErrGone {
+			t.Fatal(e)
+		}
+	}
+	if n := node(g, 0); len(n.Log) != 60 || n.Base != 1 || n.Commit != 1 || n.Snap != "" {
+		t.Errorf("base %d, %d entries, commit %d, %q", n.Base, len(n.Log), n.Commit, n.Snap)
+	}
+	g.Wake(1)
+	g.Calm(20)
+	if g.Desk(0).Now != 60 || g.Desk(1).Now != 60 {
+		t.Error(g.Desk(0).Now, g.Desk(1).Now)
+	}
+}
+
 func TestP1602Snapshot(t *testing.T) {
 	g := open(t)
 	g.Calm(60)
@@ -240,6 +286,16 @@ func TestP1603Calm(t *testing.T) {
 	h.Calm(200)
 	if !replica.Same(node(g, 0), node(h, 0)) {
 		t.Error("more than 200 rounds")
+	}
+}
+
+// Do waits no longer than it must: the others have the entry, and are not told yet that it is committed.
+func TestP1604Waits(t *testing.T) {
+	g := open(t)
+	g.Calm(60)
+	do(t, g, 0, clock(1))
+	if a, b := node(g, 0), node(g, 1); a.Commit != 2 || b.Commit != 1 || len(b.Log) != 2 {
+		t.Errorf("%+v\n%+v", a, b)
 	}
 }
 

@@ -173,6 +173,44 @@ func TestP2202Commands(t *testing.T) {
 	`)
 }
 
+func TestP2202World(t *testing.T) {
+	says(t, `
+		register 0 => ok
+		register 1 => ok
+		register 2 => ok
+		sync 60 => ok
+		checkout 0 x 10 11 0 9 => ok
+		sync 1 => ok
+		state 0 => ok 1 0 0 0 0 0 0
+		checkout 0 x 11 10 0 9 => ok
+		sync 1 => ok
+		state 0 => ok 1 0 0 0 0 0 0
+		checkout 0 x 10 10 50 9 => ok
+		checkout 1 y 100 101 0 9 => ok
+		sync 1 => ok
+		state 0 => ok 1 0 0 0 0 9 0
+		state 1 => ok 1 0 0 0 0 0 0
+		checkout 1 y 101 100 0 9 => ok
+		sync 1 => ok
+		state 1 => ok 1 0 0 0 0 0 0
+		checkout 1 - 0 0 1 9 => ok
+		sync 1 => ok
+		state 1 => ok 1 0 0 0 0 0 0
+		checkout 1 y 100 100 0 9 => ok
+		sync 1 => ok
+		state 1 => ok 1 0 0 0 0 9 0
+		do 0 0 5 "" last 49 => ok
+		do 0 0 5 "" none 50 => rights
+		do 1 1 4 y "" 100 => ok
+		values => ok 10 100
+		lose 0 => ok
+		checkout 2 - 0 0 50 8 => ok
+		sync 1 => ok
+		do 2 0 5 "" again 49 => ok
+		state 2 => ok 1 1 0 1 0 8 0
+	`)
+}
+
 func TestP2202Messages(t *testing.T) {
 	says(t, `
 		sync 60 => ok

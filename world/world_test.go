@@ -236,6 +236,14 @@ func TestP2005(t *testing.T) {
 	}
 	w.Sync(-5)
 	w.Sync(0)
+	if w.Under() != 0 {
+		t.Error("messages are left")
+	}
+	w.Send(0, 0)
+	w.Sync(1)
+	if w.Under() != 0 {
+		t.Error("messages are left")
+	}
 
 	// a round by hand
 	v, u := running(t, 3), running(t, 3)
@@ -271,7 +279,7 @@ func TestP2005(t *testing.T) {
 	w.Group().Crash(1)
 	w.Group().Crash(2)
 	w.Sync(1000)
-	if n, _ := w.Group().Node(0); n.Term != 40 || w.Under() != 0 {
+	if n, _ := w.Group().Node(0); n.Term != 40 || n.Wait != 0 || w.Under() != 0 {
 		t.Errorf("%+v", n)
 	}
 }
